@@ -1,0 +1,183 @@
+// Package term evaluates, inspects and folds expressions that are given as lists of terms: see doc/01-term.md.
+package term
+
+import (
+	"slices"
+
+	"codemason/api"
+)
+
+// modulus is the number of different values.
+const modulus = api.MaxVal + 1
+
+// Check validates a list of terms over the variables 0 to vars-1.
+func Check(vars int, l []api.Term) api.Errno {
+	if vars < 0 || vars > api.MaxVars || len(l) == 0 || len(l) > api.MaxTerms {
+		return api.ErrLarge
+	}
+	for i, t := range l {
+		if e := checkTerm(vars, i, t); e != api.OK {
+			return e
+		}
+	}
+	return api.OK
+}
+
+// checkTerm validates a term that has the given number of terms before it.
+func checkTerm(vars, before int, t api.Term) api.Errno {
+	isValue, isVar, isBefore := below(modulus), below(vars), below(before)
+	switch t.Op {
+	case api.ONum:
+		if !isValue(t.Val) {
+			return api.ErrRange
+		}
+	case api.OVar:
+		if !isVar(t.Val) {
+			return api.ErrRange
+		}
+	case api.OAdd, api.OSub, api.OMul, api.OLess:
+		if !isBefore(t.A) || !isBefore(t.B) {
+			return api.ErrArg
+		}
+	default:
+		return api.ErrKind
+	}
+	return api.OK
+}
+
+// below returns a check whether a value is one of the numbers 0 to count-1.
+func below(count int) func(v int) bool {
+	return func(v int) bool { return v >= 0 && v < count }
+}
+
+// isLeaf reports whether a valid term with the operation depends on no other terms.
+func isLeaf(op int) bool {
+	return op == api.ONum || op == api.OVar
+}
+
+// Value returns the value of the last term, where have holds the values of the variables.
+func Value(vars int, l []api.Term, have []int) (int, api.Errno) {
+	if e := Check(vars, l); e != api.OK {
+		return 0, e
+	}
+	if e := checkHave(vars, have); e != api.OK {
+		return 0, e
+	}
+	vals := make([]int, len(l))
+	for i, t := range l {
+		switch t.Op {
+		case api.ONum:
+			vals[i] = t.Val
+		case api.OVar:
+			vals[i] = have[t.Val]
+		default:
+			vals[i] = apply(t.Op, vals[t.A], vals[t.B])
+		}
+	}
+	return vals[len(vals)-1], api.OK
+}
+
+// checkHave validates the values of the variables.
+func checkHave(vars int, have []int) api.Errno {
+	if len(have) != vars {
+		return api.ErrForm
+	}
+	isValue := below(modulus)
+	for _, v := range have {
+		if !isValue(v) {
+			return api.ErrRange
+		}
+	}
+	return api.OK
+}
+
+// apply returns the value of an operator for the values a and b.
+func apply(op, a, b int) int {
+	switch op {
+	case api.OAdd:
+		return (a + b) % modulus
+	case api.OSub:
+		// The remainder of a negative number would be negative.
+		return (a - b + modulus) % modulus
+	case api.OMul:
+		return a * b % modulus
+	}
+	if a < b {
+		return 1
+	}
+	return 0
+}
+
+// Uses returns the set of the variables on which the last term depends.
+func Uses(vars int, l []api.Term) (uint32, api.Errno) {
+	if e := Check(vars, l); e != api.OK {
+		return 0, e
+	}
+	var set uint32
+	for i, needed := range needs(l) {
+		if needed && l[i].Op == api.OVar {
+			set |= 1 << l[i].Val
+		}
+	}
+	return set, api.OK
+}
+
+// needs tells, for each term of a valid list, whether it is the last one or one on which that depends.
+func needs(l []api.Term) []bool {
+	needed := make([]bool, len(l))
+	needed[len(l)-1] = true
+	// Terms depend on preceding ones only: backwards, each is settled before it is visited.
+	for i, t := range slices.Backward(l) {
+		if needed[i] && !isLeaf(t.Op) {
+			needed[t.A], needed[t.B] = true, true
+		}
+	}
+	return needed
+}
+
+// Fold returns a list with the same value in which numbers are combined and no term is superfluous.
+func Fold(vars int, l []api.Term) ([]api.Term, api.Errno) {
+	if e := Check(vars, l); e != api.OK {
+		return nil, e
+	}
+	return prune(combine(l)), api.OK
+}
+
+// combine replaces each operator of two numbers by a number, and sets unused fields to 0.
+func combine(l []api.Term) []api.Term {
+	out := make([]api.Term, len(l))
+	for i, t := range l {
+		out[i] = combineTerm(t, out[:i])
+	}
+	return out
+}
+
+// combineTerm combines a term of a list, the terms before which are combined already.
+func combineTerm(t api.Term, before []api.Term) api.Term {
+	if isLeaf(t.Op) {
+		return api.Term{Op: t.Op, Val: t.Val}
+	}
+	a, b := before[t.A], before[t.B]
+	if a.Op == api.ONum && b.Op == api.ONum {
+		return api.Term{Op: api.ONum, Val: apply(t.Op, a.Val, b.Val)}
+	}
+	return api.Term{Op: t.Op, A: t.A, B: t.B}
+}
+
+// prune returns the terms that the last one needs, with A and B renumbered.
+func prune(l []api.Term) []api.Term {
+	var kept []api.Term
+	place := make([]int, len(l))
+	for i, needed := range needs(l) {
+		if !needed {
+			continue
+		}
+		t := l[i]
+		if !isLeaf(t.Op) {
+			t.A, t.B = place[t.A], place[t.B]
+		}
+		place[i] = len(kept)
+		kept = append(kept, t)
+	}
+	return kept
+}

@@ -1,0 +1,399 @@
+package term_test
+
+import (
+	"math"
+	"slices"
+	"testing"
+
+	"codemason/api"
+	"codemason/term"
+)
+
+// junk stands in fields that the kind of a term does not use.
+const junk = math.MinInt
+
+func num(val int) api.Term { return api.Term{Op: api.ONum, A: junk, B: junk, Val: val} }
+
+func variable(val int) api.Term { return api.Term{Op: api.OVar, A: junk, B: junk, Val: val} }
+
+func op(op, a, b int) api.Term { return api.Term{Op: op, A: a, B: b, Val: junk} }
+
+func repeat(t api.Term, n int) []api.Term { return slices.Repeat([]api.Term{t}, n) }
+
+// bad is a call with invalid terms, which all functions reject with the same error.
+type bad struct {
+	name string
+	vars int
+	l    []api.Term
+	want api.Errno
+}
+
+func badCalls() []bad {
+	calls := []bad{
+		{"vars -1", -1, repeat(num(1), 1), api.ErrLarge},
+		{"vars too many", api.MaxVars + 1, repeat(num(1), 1), api.ErrLarge},
+		{"vars smallest", math.MinInt, repeat(num(1), 1), api.ErrLarge},
+		{"vars greatest", math.MaxInt, repeat(num(1), 1), api.ErrLarge},
+		{"nil", 0, nil, api.ErrLarge},
+		{"empty", 0, []api.Term{}, api.ErrLarge},
+		{"too many terms", 0, repeat(num(1), api.MaxTerms+1), api.ErrLarge},
+		{"large before kind", 7, []api.Term{op(0, 0, 0)}, api.ErrLarge},
+		{"too many before kind", 0, repeat(op(0, 0, 0), api.MaxTerms+1), api.ErrLarge},
+		{"number -1", 0, []api.Term{num(-1)}, api.ErrRange},
+		{"number 256", 0, []api.Term{num(api.MaxVal + 1)}, api.ErrRange},
+		{"number smallest", 0, []api.Term{num(math.MinInt)}, api.ErrRange},
+		{"number greatest", 0, []api.Term{num(math.MaxInt)}, api.ErrRange},
+		{"variable -1", 2, []api.Term{variable(-1)}, api.ErrRange},
+		{"variable 2 of 2", 2, []api.Term{variable(2)}, api.ErrRange},
+		{"variable 0 of 0", 0, []api.Term{variable(0)}, api.ErrRange},
+		{"invalid term that is not used", 1, []api.Term{num(256), num(1)}, api.ErrRange},
+		{"first is range", 1, []api.Term{num(256), op(99, 0, 0), op(api.OAdd, 5, 5)}, api.ErrRange},
+		{"first is kind", 1, []api.Term{num(1), op(99, 0, 0), num(256), op(api.OAdd, 5, 5)}, api.ErrKind},
+		{"first is arg", 1, []api.Term{op(api.OAdd, 5, 5), num(256), op(99, 0, 0)}, api.ErrArg},
+	}
+	for _, kind := range []int{math.MinInt, -1, 0, api.OLess + 1, math.MaxInt} {
+		// Neither Val nor A and B matter where the kind is unknown.
+		calls = append(calls, bad{"kind", 1, []api.Term{num(1), {Op: kind, A: -1, B: 9, Val: -1}}, api.ErrKind})
+	}
+	for _, kind := range []int{api.OAdd, api.OSub, api.OMul, api.OLess} {
+		for _, arg := range []int{math.MinInt, -1, 1, 2, math.MaxInt} {
+			calls = append(calls,
+				bad{"A", 1, []api.Term{num(1), op(kind, arg, 0), num(1)}, api.ErrArg},
+				bad{"B", 1, []api.Term{num(1), op(kind, 0, arg), num(1)}, api.ErrArg})
+		}
+		calls = append(calls, bad{"no term before", 1, []api.Term{op(kind, 0, 0)}, api.ErrArg})
+	}
+	return calls
+}
+
+// A1, and the errors of Check in the functions of A2.
+func TestInvalidTerms(t *testing.T) {
+	for _, c := range badCalls() {
+		if e := term.Check(c.vars, c.l); e != c.want {
+			t.Errorf("%s: Check(%d, %v) = %v, want %v", c.name, c.vars, c.l, e, c.want)
+		}
+		// Values that are wrong too: the errors of Check come first.
+		for _, have := range [][]int{nil, {-1}, {1, 2, 3, 4, 5, 6, 7, 8}} {
+			if v, e := term.Value(c.vars, c.l, have); v != 0 || e != c.want {
+				t.Errorf("%s: Value(%d, %v, %v) = %v, %v, want 0, %v", c.name, c.vars, c.l, have, v, e, c.want)
+			}
+		}
+		if s, e := term.Uses(c.vars, c.l); s != 0 || e != c.want {
+			t.Errorf("%s: Uses(%d, %v) = %v, %v, want 0, %v", c.name, c.vars, c.l, s, e, c.want)
+		}
+		if f, e := term.Fold(c.vars, c.l); len(f) != 0 || e != c.want {
+			t.Errorf("%s: Fold(%d, %v) = %v, %v, want an empty list, %v", c.name, c.vars, c.l, f, e, c.want)
+		}
+	}
+}
+
+// A1: limits that are still allowed, and fields that are ignored.
+func TestCheckAccepts(t *testing.T) {
+	for _, c := range []struct {
+		vars int
+		l    []api.Term
+	}{
+		{0, []api.Term{num(0)}},
+		{0, []api.Term{num(api.MaxVal)}},
+		{api.MaxVars, []api.Term{num(1)}},
+		{api.MaxVars, []api.Term{variable(0)}},
+		{api.MaxVars, []api.Term{variable(api.MaxVars - 1)}},
+		{0, repeat(num(1), api.MaxTerms)},
+		{0, []api.Term{num(1), op(api.OAdd, 0, 0)}},
+		{0, []api.Term{num(1), num(2), op(api.OSub, 0, 1)}},
+		{0, []api.Term{num(1), num(2), op(api.OMul, 1, 0)}},
+		{0, []api.Term{num(1), num(2), op(api.OLess, 1, 1)}},
+	} {
+		if e := term.Check(c.vars, c.l); e != api.OK {
+			t.Errorf("Check(%d, %v) = %v", c.vars, c.l, e)
+		}
+	}
+}
+
+// A2: the operations, with wraparound, for all pairs of values.
+func TestValueOfOperations(t *testing.T) {
+	for a := range api.MaxVal + 1 {
+		for b := range api.MaxVal + 1 {
+			less := 0
+			if a < b {
+				less = 1
+			}
+			for kind, want := range map[int]int{
+				api.OAdd:  int(uint8(a) + uint8(b)),
+				api.OSub:  int(uint8(a) - uint8(b)),
+				api.OMul:  int(uint8(a) * uint8(b)),
+				api.OLess: less,
+			} {
+				l := []api.Term{variable(0), variable(1), op(kind, 0, 1)}
+				if v, e := term.Value(2, l, []int{a, b}); v != want || e != api.OK {
+					t.Fatalf("operation %d of %d and %d: %v, %v, want %d", kind, a, b, v, e, want)
+				}
+			}
+		}
+	}
+}
+
+// A2: ordinary lists, and the limits of the numbers and lists.
+func TestValue(t *testing.T) {
+	doubled := []api.Term{num(1)}
+	for i := range api.MaxTerms - 1 {
+		doubled = append(doubled, op(api.OAdd, i, i))
+	}
+	for _, c := range []struct {
+		name string
+		vars int
+		l    []api.Term
+		have []int
+		want int
+	}{
+		{"number, no variables", 0, []api.Term{num(255)}, nil, 255},
+		{"number, empty values", 0, []api.Term{num(7)}, []int{}, 7},
+		{"last variable", 6, []api.Term{variable(5)}, []int{0, 1, 2, 3, 4, 255}, 255},
+		{"last term, not the greatest", 0, []api.Term{num(9), num(4)}, nil, 4},
+		{"(x + 3) * (x - y)", 2, []api.Term{
+			variable(0), num(3), op(api.OAdd, 0, 1), variable(1), op(api.OSub, 0, 3), op(api.OMul, 2, 4),
+		}, []int{10, 4}, 78},
+		{"y < x", 2, []api.Term{variable(0), variable(1), op(api.OLess, 1, 0)}, []int{10, 4}, 1},
+		{"all powers of two wrap around", 0, doubled, nil, 0},
+		{"2 to the 7th", 0, doubled[:8], nil, 128},
+	} {
+		if v, e := term.Value(c.vars, c.l, c.have); v != c.want || e != api.OK {
+			t.Errorf("%s: %v, %v, want %d", c.name, v, e, c.want)
+		}
+	}
+}
+
+// A2: invalid values of the variables.
+func TestValueRejectsHave(t *testing.T) {
+	for _, c := range []struct {
+		name string
+		vars int
+		have []int
+		want api.Errno
+	}{
+		{"nil", 1, nil, api.ErrForm},
+		{"too few", 2, []int{1}, api.ErrForm},
+		{"too many", 2, []int{1, 2, 3}, api.ErrForm},
+		{"one for no variables", 0, []int{1}, api.ErrForm},
+		{"form before range", 2, []int{-1}, api.ErrForm},
+		{"-1", 2, []int{-1, 0}, api.ErrRange},
+		{"256, of a variable that does not occur", 2, []int{0, 256}, api.ErrRange},
+		{"smallest", 1, []int{math.MinInt}, api.ErrRange},
+		{"greatest", 1, []int{math.MaxInt}, api.ErrRange},
+	} {
+		if v, e := term.Value(c.vars, []api.Term{num(1)}, c.have); v != 0 || e != c.want {
+			t.Errorf("%s: %v, %v, want 0, %v", c.name, v, e, c.want)
+		}
+	}
+}
+
+// A2: variables on which the last term depends, directly, indirectly, or not at all.
+func TestUses(t *testing.T) {
+	for _, c := range []struct {
+		name string
+		l    []api.Term
+		want uint32
+	}{
+		{"no variable", []api.Term{num(3)}, 0},
+		{"itself", []api.Term{variable(5)}, 1 << 5},
+		{"not needed", []api.Term{variable(1), variable(2)}, 1 << 2},
+		{"A", []api.Term{variable(1), num(0), variable(2), op(api.OMul, 0, 1)}, 1 << 1},
+		{"B", []api.Term{variable(1), num(0), variable(2), op(api.OLess, 1, 0)}, 1 << 1},
+		{"indirectly", []api.Term{
+			variable(0), variable(3), variable(4), op(api.OAdd, 0, 1), op(api.OSub, 3, 3), op(api.OMul, 4, 0),
+		}, 1<<0 | 1<<3},
+		{"only of a term that is not needed", []api.Term{
+			variable(0), variable(1), op(api.OAdd, 0, 1), op(api.OAdd, 1, 1),
+		}, 1 << 1},
+		{"difference of equals", []api.Term{variable(2), op(api.OSub, 0, 0)}, 1 << 2},
+		{"all", []api.Term{
+			variable(0), variable(1), op(api.OAdd, 0, 1), variable(2), op(api.OAdd, 2, 3), variable(3),
+			op(api.OAdd, 4, 5), variable(4), op(api.OAdd, 6, 7), variable(5), op(api.OAdd, 8, 9),
+		}, 1<<6 - 1},
+	} {
+		if s, e := term.Uses(api.MaxVars, c.l); s != c.want || e != api.OK {
+			t.Errorf("%s: %b, %v, want %b", c.name, s, e, c.want)
+		}
+	}
+}
+
+// A2: the document's example, and lists for which only one result is possible, except for fields that are not used.
+func TestFold(t *testing.T) {
+	for _, c := range []struct {
+		name    string
+		l, want []api.Term
+	}{
+		{"number", []api.Term{num(8)}, []api.Term{{Op: api.ONum, Val: 8}}},
+		{"sum", []api.Term{num(2), num(3), op(api.OAdd, 0, 1)}, []api.Term{{Op: api.ONum, Val: 5}}},
+		{"difference", []api.Term{num(2), num(3), op(api.OSub, 0, 1)}, []api.Term{{Op: api.ONum, Val: 255}}},
+		{"product", []api.Term{num(200), op(api.OMul, 0, 0)}, []api.Term{{Op: api.ONum, Val: 64}}},
+		{"comparison", []api.Term{num(2), num(3), op(api.OLess, 0, 1)}, []api.Term{{Op: api.ONum, Val: 1}}},
+		{"of what was folded", []api.Term{num(2), num(3), op(api.OAdd, 0, 1), op(api.OMul, 2, 2)},
+			[]api.Term{{Op: api.ONum, Val: 25}}},
+		{"not needed", []api.Term{variable(0), variable(1)}, []api.Term{{Op: api.OVar, Val: 1}}},
+		{"(2 + 3) - x", []api.Term{num(2), variable(0), num(3), op(api.OAdd, 0, 2), op(api.OSub, 3, 1)},
+			[]api.Term{{Op: api.OVar}, {Op: api.ONum, Val: 5}, {Op: api.OSub, A: 1}}},
+	} {
+		f, e := term.Fold(2, c.l)
+		if e != api.OK || !slices.EqualFunc(f, c.want, sameTerm) {
+			t.Errorf("%s: %v, %v, want %v", c.name, f, e, c.want)
+		}
+	}
+}
+
+// sameTerm compares the fields that the kind of the terms uses.
+func sameTerm(x, y api.Term) bool {
+	switch x.Op {
+	case api.ONum, api.OVar:
+		return x.Op == y.Op && x.Val == y.Val
+	}
+	return x.Op == y.Op && x.A == y.A && x.B == y.B
+}
+
+// A2: what Fold promises, for all short lists over two variables and two numbers.
+func TestFoldOfShortLists(t *testing.T) {
+	leaves := []api.Term{num(0), num(255), variable(0), variable(1)}
+	var extend func(l []api.Term)
+	extend = func(l []api.Term) {
+		if len(l) > 0 {
+			checkFold(t, 2, l, [][]int{{0, 0}, {1, 0}, {0, 255}, {7, 200}, {200, 7}})
+		}
+		if len(l) == 4 || t.Failed() {
+			return
+		}
+		for _, leaf := range leaves {
+			extend(append(l, leaf))
+		}
+		for kind := api.OAdd; kind <= api.OLess; kind++ {
+			for a := range l {
+				for b := range l {
+					extend(append(l, op(kind, a, b)))
+				}
+			}
+		}
+	}
+	extend(nil)
+}
+
+// A2: what Fold promises, for longer lists that follow a fixed rule.
+func TestFoldOfLongLists(t *testing.T) {
+	state := uint32(1)
+	next := func(n int) int {
+		state = state*1664525 + 1013904223
+		return int(state>>16) % n
+	}
+	for round := 0; round < 20000 && !t.Failed(); round++ {
+		l := []api.Term{num(next(256)), variable(next(api.MaxVars))}
+		for len(l) < 3+round%(api.MaxTerms-2) {
+			switch next(6) {
+			case 0:
+				l = append(l, num(next(256)))
+			case 1:
+				l = append(l, variable(next(api.MaxVars)))
+			default:
+				l = append(l, op(api.OAdd+next(4), next(len(l)), next(len(l))))
+			}
+		}
+		var haves [][]int
+		for range 4 {
+			haves = append(haves, []int{next(256), next(256), next(256), next(256), next(256), next(256)})
+		}
+		checkFold(t, api.MaxVars, l, haves)
+	}
+}
+
+// checkFold checks what Fold promises for a valid list.
+func checkFold(t *testing.T, vars int, l []api.Term, haves [][]int) {
+	t.Helper()
+	f, e := term.Fold(vars, l)
+	if e != api.OK || term.Check(vars, f) != api.OK || len(f) > len(l) {
+		t.Fatalf("Fold(%v) = %v, %v", l, f, e)
+	}
+	used := make([]bool, len(f))
+	for _, x := range f {
+		if x.Op == api.ONum || x.Op == api.OVar {
+			continue
+		}
+		used[x.A], used[x.B] = true, true
+		if f[x.A].Op == api.ONum && f[x.B].Op == api.ONum {
+			t.Fatalf("Fold(%v) = %v: an operation of two numbers", l, f)
+		}
+	}
+	if slices.Contains(used[:len(f)-1], false) {
+		t.Fatalf("Fold(%v) = %v: a term that no term uses", l, f)
+	}
+	old, _ := term.Uses(vars, l)
+	if now, _ := term.Uses(vars, f); now&^old != 0 {
+		t.Fatalf("Fold(%v) = %v: uses %b, not only %b", l, f, now, old)
+	}
+	if again, e := term.Fold(vars, f); e != api.OK || len(again) != len(f) {
+		t.Fatalf("Fold(%v) = %v, which is folded to %v, %v", l, f, again, e)
+	}
+	for _, have := range haves {
+		want := reckon(l, len(l)-1, have)
+		if v, e := term.Value(vars, l, have); v != want || e != api.OK {
+			t.Fatalf("Value(%v, %v) = %v, %v, want %d", l, have, v, e, want)
+		}
+		if got := reckon(f, len(f)-1, have); got != want {
+			t.Fatalf("Fold(%v) = %v: %d instead of %d for %v", l, f, got, want, have)
+		}
+	}
+}
+
+// reckon is the value of a term by the document's definition.
+func reckon(l []api.Term, i int, have []int) int {
+	x := l[i]
+	switch x.Op {
+	case api.ONum:
+		return x.Val
+	case api.OVar:
+		return have[x.Val]
+	}
+	a, b := reckon(l, x.A, have), reckon(l, x.B, have)
+	switch x.Op {
+	case api.OAdd:
+		return int(uint8(a + b))
+	case api.OSub:
+		return int(uint8(a - b))
+	case api.OMul:
+		return int(uint8(a * b))
+	}
+	if a < b {
+		return 1
+	}
+	return 0
+}
+
+// P3: arguments stay as they are, also beyond their length, and results share no memory.
+func TestMemory(t *testing.T) {
+	all := []api.Term{variable(0), num(1), num(2), op(api.OAdd, 1, 2), op(api.OSub, 0, 3), num(77), num(78)}
+	values := []int{9, 10, 11}
+	wantAll, wantValues := slices.Clone(all), slices.Clone(values)
+	l, have := all[:5], values[:1]
+	if e := term.Check(1, l); e != api.OK {
+		t.Error(e)
+	}
+	if v, e := term.Value(1, l, have); v != 6 || e != api.OK {
+		t.Error(v, e)
+	}
+	if s, e := term.Uses(1, l); s != 1 || e != api.OK {
+		t.Error(s, e)
+	}
+	f, e := term.Fold(1, l)
+	if e != api.OK {
+		t.Fatal(e)
+	}
+	wantF := slices.Clone(f)
+	g, _ := term.Fold(1, f)
+	clear(f[:cap(f)])
+	if !slices.Equal(g, wantF) {
+		t.Errorf("a result changed with the argument: %v, want %v", g, wantF)
+	}
+	h, _ := term.Fold(1, l)
+	if !slices.Equal(h, wantF) {
+		t.Errorf("a result depends on more than the arguments: %v, want %v", h, wantF)
+	}
+	if !slices.Equal(all, wantAll) || !slices.Equal(values, wantValues) {
+		t.Errorf("arguments changed: %v, %v", all, values)
+	}
+}
