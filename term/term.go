@@ -50,8 +50,8 @@ func below(count int) func(v int) bool {
 	return func(v int) bool { return v >= 0 && v < count }
 }
 
-// isLeaf reports whether a valid term with the operation depends on no other terms.
-func isLeaf(op int) bool {
+// IsLeaf reports whether the operation is a number or a variable, which has no operands A and B.
+func IsLeaf(op int) bool {
 	return op == api.ONum || op == api.OVar
 }
 
@@ -60,7 +60,7 @@ func Value(vars int, l []api.Term, have []int) (int, api.Errno) {
 	if e := Check(vars, l); e != api.OK {
 		return 0, e
 	}
-	if e := checkHave(vars, have); e != api.OK {
+	if e := CheckHave(vars, have); e != api.OK {
 		return 0, e
 	}
 	vals := make([]int, len(l))
@@ -71,14 +71,14 @@ func Value(vars int, l []api.Term, have []int) (int, api.Errno) {
 		case api.OVar:
 			vals[i] = have[t.Val]
 		default:
-			vals[i] = apply(t.Op, vals[t.A], vals[t.B])
+			vals[i] = Apply(t.Op, vals[t.A], vals[t.B])
 		}
 	}
 	return vals[len(vals)-1], api.OK
 }
 
-// checkHave validates the values of the variables.
-func checkHave(vars int, have []int) api.Errno {
+// CheckHave validates the values of the variables 0 to vars-1.
+func CheckHave(vars int, have []int) api.Errno {
 	if len(have) != vars {
 		return api.ErrForm
 	}
@@ -91,8 +91,8 @@ func checkHave(vars int, have []int) api.Errno {
 	return api.OK
 }
 
-// apply returns the value of an operator for the values a and b.
-func apply(op, a, b int) int {
+// Apply returns the value of an operation other than ONum and OVar for the values a and b.
+func Apply(op, a, b int) int {
 	switch op {
 	case api.OAdd:
 		return (a + b) % modulus
@@ -128,7 +128,7 @@ func needs(l []api.Term) []bool {
 	needed[len(l)-1] = true
 	// Terms depend on preceding ones only: backwards, each is settled before it is visited.
 	for i, t := range slices.Backward(l) {
-		if needed[i] && !isLeaf(t.Op) {
+		if needed[i] && !IsLeaf(t.Op) {
 			needed[t.A], needed[t.B] = true, true
 		}
 	}
@@ -154,12 +154,12 @@ func combine(l []api.Term) []api.Term {
 
 // combineTerm combines a term of a list, the terms before which are combined already.
 func combineTerm(t api.Term, before []api.Term) api.Term {
-	if isLeaf(t.Op) {
+	if IsLeaf(t.Op) {
 		return api.Term{Op: t.Op, Val: t.Val}
 	}
 	a, b := before[t.A], before[t.B]
 	if a.Op == api.ONum && b.Op == api.ONum {
-		return api.Term{Op: api.ONum, Val: apply(t.Op, a.Val, b.Val)}
+		return api.Term{Op: api.ONum, Val: Apply(t.Op, a.Val, b.Val)}
 	}
 	return api.Term{Op: t.Op, A: t.A, B: t.B}
 }
@@ -173,7 +173,7 @@ func prune(l []api.Term) []api.Term {
 			continue
 		}
 		t := l[i]
-		if !isLeaf(t.Op) {
+		if !IsLeaf(t.Op) {
 			t.A, t.B = place[t.A], place[t.B]
 		}
 		place[i] = len(kept)

@@ -6,17 +6,12 @@ import (
 	"testing"
 
 	"codemason/api"
+	"codemason/sample"
 	"codemason/term"
 )
 
-// junk stands in fields that the kind of a term does not use.
-const junk = math.MinInt
-
-func num(val int) api.Term { return api.Term{Op: api.ONum, A: junk, B: junk, Val: val} }
-
-func variable(val int) api.Term { return api.Term{Op: api.OVar, A: junk, B: junk, Val: val} }
-
-func op(op, a, b int) api.Term { return api.Term{Op: op, A: a, B: b, Val: junk} }
+// The tests write terms with these.
+var num, variable, op = sample.Num, sample.Var, sample.Op
 
 func repeat(t api.Term, n int) []api.Term { return slices.Repeat([]api.Term{t}, n) }
 
@@ -277,11 +272,7 @@ func TestFoldOfShortLists(t *testing.T) {
 
 // A2: what Fold promises, for longer lists that follow a fixed rule.
 func TestFoldOfLongLists(t *testing.T) {
-	state := uint32(1)
-	next := func(n int) int {
-		state = state*1664525 + 1013904223
-		return int(state>>16) % n
-	}
+	next := sample.Numbers()
 	for round := 0; round < 20000 && !t.Failed(); round++ {
 		l := []api.Term{num(next(256)), variable(next(api.MaxVars))}
 		for len(l) < 3+round%(api.MaxTerms-2) {
@@ -330,38 +321,14 @@ func checkFold(t *testing.T, vars int, l []api.Term, haves [][]int) {
 		t.Fatalf("Fold(%v) = %v, which is folded to %v, %v", l, f, again, e)
 	}
 	for _, have := range haves {
-		want := reckon(l, len(l)-1, have)
+		want := sample.Reckon(l, len(l)-1, have)
 		if v, e := term.Value(vars, l, have); v != want || e != api.OK {
 			t.Fatalf("Value(%v, %v) = %v, %v, want %d", l, have, v, e, want)
 		}
-		if got := reckon(f, len(f)-1, have); got != want {
+		if got := sample.Reckon(f, len(f)-1, have); got != want {
 			t.Fatalf("Fold(%v) = %v: %d instead of %d for %v", l, f, got, want, have)
 		}
 	}
-}
-
-// reckon is the value of a term by the document's definition.
-func reckon(l []api.Term, i int, have []int) int {
-	x := l[i]
-	switch x.Op {
-	case api.ONum:
-		return x.Val
-	case api.OVar:
-		return have[x.Val]
-	}
-	a, b := reckon(l, x.A, have), reckon(l, x.B, have)
-	switch x.Op {
-	case api.OAdd:
-		return int(uint8(a + b))
-	case api.OSub:
-		return int(uint8(a - b))
-	case api.OMul:
-		return int(uint8(a * b))
-	}
-	if a < b {
-		return 1
-	}
-	return 0
 }
 
 // P3: arguments stay as they are, also beyond their length, and results share no memory.
@@ -395,5 +362,27 @@ func TestMemory(t *testing.T) {
 	}
 	if !slices.Equal(all, wantAll) || !slices.Equal(values, wantValues) {
 		t.Errorf("arguments changed: %v, %v", all, values)
+	}
+}
+
+// P1: the functions that other packages use answer for all numbers.
+func TestHelpers(t *testing.T) {
+	for kind, want := range map[int]bool{
+		math.MinInt: false, 0: false, api.ONum: true, api.OVar: true, api.OAdd: false, api.OLess: false, math.MaxInt: false,
+	} {
+		if got := term.IsLeaf(kind); got != want {
+			t.Errorf("IsLeaf(%d) = %v", kind, got)
+		}
+	}
+	extremes := []int{math.MinInt, -1, 0, math.MaxInt}
+	for _, a := range extremes {
+		for _, b := range extremes {
+			for _, kind := range []int{math.MinInt, 0, api.OAdd, api.OSub, api.OMul, api.OLess, math.MaxInt} {
+				term.Apply(kind, a, b)
+			}
+		}
+		if e := term.CheckHave(a, []int{1}); e != api.ErrForm {
+			t.Errorf("CheckHave(%d, one value) = %v", a, e)
+		}
 	}
 }
