@@ -82,7 +82,7 @@ func badRuns() []badRun {
 	kind := api.Step{Op: 99, To: sample.Junk, A: sample.Junk, B: sample.Junk, Val: sample.Junk}
 	value, arg := setNum(0, 256), setNum(5, 1)
 	many := func(s api.Step) []api.Step { return slices.Repeat([]api.Step{s}, api.MaxSteps+1) }
-	return []badRun{
+	calls := []badRun{
 		{"too many steps", 0, many(setNum(0, 1)), 1, nil, api.ErrLarge},
 		{"too many before kind", 0, many(kind), 1, nil, api.ErrLarge},
 		{"vars before kind", 7, []api.Step{kind}, 1, nil, api.ErrLarge},
@@ -98,15 +98,11 @@ func badRuns() []badRun {
 		{"range before have", 1, []api.Step{value}, 1, nil, api.ErrRange},
 		{"arg before have", 1, []api.Step{arg}, 1, []int{-1}, api.ErrArg},
 		{"range after a valid step", 0, append(slices.Repeat([]api.Step{setNum(0, 1)}, api.MaxSteps-1), value), 1, nil, api.ErrRange},
-		{"too few values", 2, nil, 1, []int{1}, api.ErrForm},
-		{"too many values", 2, nil, 1, []int{1, 2, 3}, api.ErrForm},
-		{"no values", 1, nil, 1, nil, api.ErrForm},
-		{"form before range", 2, nil, 1, []int{-1}, api.ErrForm},
-		{"have below 0", 2, nil, 1, []int{0, -1}, api.ErrRange},
-		{"have above 255", 2, nil, 1, []int{256, 0}, api.ErrRange},
-		{"have smallest", 1, nil, 1, []int{math.MinInt}, api.ErrRange},
-		{"have greatest", 1, nil, 1, []int{math.MaxInt}, api.ErrRange},
 	}
+	for _, c := range sample.BadHaves() {
+		calls = append(calls, badRun{c.Name, c.Vars, nil, 1, c.Have, c.Want})
+	}
+	return calls
 }
 
 // badSteps are invalid calls of Run with all sorts of invalid numbers, with two variables and two registers.
@@ -151,44 +147,18 @@ func TestRunRejects(t *testing.T) {
 
 // B2: invalid lists, and lists that are not trees, for Need and, with any number of registers, Code.
 func TestInvalidTrees(t *testing.T) {
-	twice := []api.Term{variable(0), op(api.OAdd, 0, 0)}
-	for _, c := range []struct {
-		name string
-		vars int
-		l    []api.Term
-		want api.Errno
-	}{
-		{"vars below 0", -1, []api.Term{num(1)}, api.ErrLarge},
-		{"vars too many", api.MaxVars + 1, []api.Term{num(1)}, api.ErrLarge},
-		{"nil", 0, nil, api.ErrLarge},
-		{"empty", 0, []api.Term{}, api.ErrLarge},
-		{"too many terms", 0, slices.Repeat([]api.Term{num(1)}, api.MaxTerms+1), api.ErrLarge},
-		{"kind", 0, []api.Term{op(0, 0, 0)}, api.ErrKind},
-		{"number", 0, []api.Term{num(256)}, api.ErrRange},
-		{"variable", 1, []api.Term{variable(1)}, api.ErrRange},
-		{"operand", 1, []api.Term{variable(0), op(api.OAdd, 0, 1)}, api.ErrArg},
-		{"kind before form", 1, append(slices.Clone(twice), op(99, 0, 0)), api.ErrKind},
-		{"arg before form", 1, append(slices.Clone(twice), op(api.OAdd, 0, 3)), api.ErrArg},
-		{"both operands", 1, twice, api.ErrForm},
-		{"not an operand", 1, []api.Term{num(1), num(2)}, api.ErrForm},
-		{"an operator that is not an operand", 1, []api.Term{num(1), num(2), op(api.OAdd, 0, 1), num(3)}, api.ErrForm},
-		{"operand of two terms", 1, []api.Term{
-			num(1), num(2), op(api.OAdd, 0, 1), op(api.OMul, 2, 0)}, api.ErrForm},
-		{"one twice, another one never", 1, []api.Term{
-			num(1), num(2), num(3), op(api.OAdd, 0, 1), op(api.OMul, 3, 1)}, api.ErrForm},
-		{"an even number of terms", 1, append(slices.Repeat([]api.Term{num(1)}, 15), op(api.OAdd, 0, 1)), api.ErrForm},
-	} {
-		if k, e := need.Need(c.vars, c.l); k != 0 || e != c.want {
-			t.Errorf("%s: Need(%d, %v) = %d, %v, want %v", c.name, c.vars, c.l, k, e, c.want)
+	for _, c := range sample.BadTrees() {
+		if k, e := need.Need(c.Vars, c.List); k != 0 || e != c.Want {
+			t.Errorf("%s: Need(%d, %v) = %d, %v, want %v", c.Name, c.Vars, c.List, k, e, c.Want)
 		}
 		for regs := 1; regs <= api.MaxRegs; regs++ {
-			if code, e := need.Code(c.vars, c.l, regs); len(code) != 0 || e != c.want {
-				t.Errorf("%s: Code(%d, %v, %d) = %v, %v, want %v", c.name, c.vars, c.l, regs, code, e, c.want)
+			if code, e := need.Code(c.Vars, c.List, regs); len(code) != 0 || e != c.Want {
+				t.Errorf("%s: Code(%d, %v, %d) = %v, %v, want %v", c.Name, c.Vars, c.List, regs, code, e, c.Want)
 			}
 		}
 		for _, regs := range append(sample.Outside(api.MaxRegs+1), 0) {
-			if code, e := need.Code(c.vars, c.l, regs); len(code) != 0 || e != api.ErrLarge {
-				t.Errorf("%s: Code(%d, %v, %d) = %v, %v, want ErrLarge", c.name, c.vars, c.l, regs, code, e)
+			if code, e := need.Code(c.Vars, c.List, regs); len(code) != 0 || e != api.ErrLarge {
+				t.Errorf("%s: Code(%d, %v, %d) = %v, %v, want ErrLarge", c.Name, c.Vars, c.List, regs, code, e)
 			}
 		}
 	}
@@ -242,15 +212,8 @@ func TestNeed(t *testing.T) {
 func TestAllShapes(t *testing.T) {
 	next := sample.Numbers()
 	for leaves := 1; 2*leaves-1 <= api.MaxTerms; leaves++ {
-		for _, l := range shapes(leaves) {
-			for i := range l {
-				if l[i].Op == 0 {
-					l[i] = op(api.OAdd+next(4), l[i].A, l[i].B)
-				} else {
-					l[i] = variable(next(3))
-				}
-			}
-			checkTree(t, 3, l, [][]int{{0, 0, 0}, {255, 1, 2}, {3, 200, 77}})
+		for _, l := range sample.Shapes(next, leaves) {
+			checkTree(t, api.MaxVars, l, [][]int{{0, 0, 0, 0, 0, 0}, {255, 1, 2, 3, 4, 5}, {3, 200, 77, 9, 150, 31}})
 		}
 		if t.Failed() {
 			return
@@ -258,64 +221,17 @@ func TestAllShapes(t *testing.T) {
 	}
 }
 
-// shapes lists all trees with so many leaves, with 0 for all operations.
-func shapes(leaves int) [][]api.Term {
-	if leaves == 1 {
-		return [][]api.Term{{{Op: api.OVar}}}
-	}
-	var all [][]api.Term
-	for left := 1; left < leaves; left++ {
-		for _, a := range shapes(left) {
-			for _, b := range shapes(leaves - left) {
-				l := slices.Clone(a)
-				for _, x := range b {
-					l = append(l, api.Term{Op: x.Op, A: x.A + len(a), B: x.B + len(a)})
-				}
-				all = append(all, append(l, api.Term{A: len(a) - 1, B: len(l) - 1}))
-			}
-		}
-	}
-	return all
-}
-
 // B2: trees in any order of terms, by a fixed rule.
 func TestTreesInAnyOrder(t *testing.T) {
 	next := sample.Numbers()
 	for round := 0; round < 3000 && !t.Failed(); round++ {
-		l := anyTree(next, 1+round%8)
+		l := sample.Tree(next, 1+round%8)
 		var haves [][]int
 		for range 3 {
 			haves = append(haves, []int{next(256), next(256), next(256), next(256), next(256), next(256)})
 		}
 		checkTree(t, api.MaxVars, l, haves)
 	}
-}
-
-// anyTree builds a tree from leaves that come at any place before their use.
-func anyTree(next func(int) int, leaves int) []api.Term {
-	var l []api.Term
-	var free []int
-	take := func() int {
-		k := next(len(free))
-		i := free[k]
-		free = slices.Delete(free, k, k+1)
-		return i
-	}
-	for leaves > 0 || len(free) > 1 {
-		switch {
-		case len(free) > 1 && (leaves == 0 || next(2) == 0):
-			a := take()
-			l = append(l, op(api.OAdd+next(4), a, take()))
-		case next(2) == 0:
-			l = append(l, num(next(256)))
-			leaves--
-		default:
-			l = append(l, variable(next(api.MaxVars)))
-			leaves--
-		}
-		free = append(free, len(l)-1)
-	}
-	return l
 }
 
 // checkTree checks what Need and Code promise for a tree.

@@ -3,6 +3,7 @@ package sample
 
 import (
 	"math"
+	"slices"
 
 	"codemason/api"
 )
@@ -74,4 +75,125 @@ func Reckon(l []api.Term, i int, have []int) int {
 	default:
 		return Apply(x.Op, Reckon(l, x.A, have), Reckon(l, x.B, have))
 	}
+}
+
+// BadHave has values of variables that are invalid.
+type BadHave struct {
+	Name string
+	Vars int
+	Have []int
+	Want api.Errno
+}
+
+// BadHaves lists invalid values of variables, which all functions with such an argument reject.
+func BadHaves() []BadHave {
+	return []BadHave{
+		{"no values", 1, nil, api.ErrForm},
+		{"too few values", 2, []int{1}, api.ErrForm},
+		{"too many values", 2, []int{1, 2, 3}, api.ErrForm},
+		{"a value for no variables", 0, []int{1}, api.ErrForm},
+		{"too few values, one of them invalid", 2, []int{-1}, api.ErrForm},
+		{"value -1", 2, []int{-1, 0}, api.ErrRange},
+		{"value -1 of the last variable", 2, []int{0, -1}, api.ErrRange},
+		{"value 256", 2, []int{256, 0}, api.ErrRange},
+		{"value 256 of the last variable", 2, []int{0, 256}, api.ErrRange},
+		{"smallest value", 1, []int{math.MinInt}, api.ErrRange},
+		{"greatest value", 1, []int{math.MaxInt}, api.ErrRange},
+	}
+}
+
+// BadTree is a list that is invalid or not a tree.
+type BadTree struct {
+	Name string
+	Vars int
+	List []api.Term
+	Want api.Errno
+}
+
+// BadTrees lists invalid lists and lists that are not trees, which all functions of trees reject.
+func BadTrees() []BadTree {
+	twice := []api.Term{Var(0), Op(api.OAdd, 0, 0)}
+	return []BadTree{
+		{"vars below 0", -1, []api.Term{Num(1)}, api.ErrLarge},
+		{"vars too many", api.MaxVars + 1, []api.Term{Num(1)}, api.ErrLarge},
+		{"nil", 0, nil, api.ErrLarge},
+		{"empty", 0, []api.Term{}, api.ErrLarge},
+		{"too many terms", 0, slices.Repeat([]api.Term{Num(1)}, api.MaxTerms+1), api.ErrLarge},
+		{"kind", 0, []api.Term{Op(0, 0, 0)}, api.ErrKind},
+		{"number", 0, []api.Term{Num(256)}, api.ErrRange},
+		{"variable", 1, []api.Term{Var(1)}, api.ErrRange},
+		{"operand", 1, []api.Term{Var(0), Op(api.OAdd, 0, 1)}, api.ErrArg},
+		{"kind before form", 1, append(slices.Clone(twice), Op(99, 0, 0)), api.ErrKind},
+		{"arg before form", 1, append(slices.Clone(twice), Op(api.OAdd, 0, 3)), api.ErrArg},
+		{"both operands", 1, twice, api.ErrForm},
+		{"not an operand", 1, []api.Term{Num(1), Num(2)}, api.ErrForm},
+		{"an operator that is not an operand", 1, []api.Term{Num(1), Num(2), Op(api.OAdd, 0, 1), Num(3)}, api.ErrForm},
+		{"operand of two terms", 1, []api.Term{
+			Num(1), Num(2), Op(api.OAdd, 0, 1), Op(api.OMul, 2, 0)}, api.ErrForm},
+		{"one twice, another one never", 1, []api.Term{
+			Num(1), Num(2), Num(3), Op(api.OAdd, 0, 1), Op(api.OMul, 3, 1)}, api.ErrForm},
+		{"an even number of terms", 1, append(slices.Repeat([]api.Term{Num(1)}, 15), Op(api.OAdd, 0, 1)), api.ErrForm},
+	}
+}
+
+// leaf returns a number or a variable.
+func leaf(next func(int) int) api.Term {
+	if next(2) == 0 {
+		return Num(next(api.MaxVal + 1))
+	}
+	return Var(next(api.MaxVars))
+}
+
+// operator returns one of the operations that have operands.
+func operator(next func(int) int) int { return api.OAdd + next(4) }
+
+// Shapes lists a tree of each shape that has so many leaves, in postorder.
+func Shapes(next func(int) int, leaves int) [][]api.Term {
+	if leaves == 1 {
+		return [][]api.Term{{leaf(next)}}
+	}
+	var all [][]api.Term
+	for left := 1; left < leaves; left++ {
+		for _, a := range Shapes(next, left) {
+			for _, b := range Shapes(next, leaves-left) {
+				all = append(all, combine(a, b, operator(next)))
+			}
+		}
+	}
+	return all
+}
+
+// combine returns the terms of two trees, and then an operation of them.
+func combine(a, b []api.Term, kind int) []api.Term {
+	l := slices.Clone(a)
+	for _, t := range b {
+		if t.Op != api.ONum && t.Op != api.OVar {
+			t = Op(t.Op, t.A+len(a), t.B+len(a))
+		}
+		l = append(l, t)
+	}
+	return append(l, Op(kind, len(a)-1, len(l)-1))
+}
+
+// Tree builds a tree from so many leaves, with terms at any place before their use.
+func Tree(next func(int) int, leaves int) []api.Term {
+	var l []api.Term
+	var free []int
+	take := func() int {
+		k := next(len(free))
+		i := free[k]
+		free = slices.Delete(free, k, k+1)
+		return i
+	}
+	for leaves > 0 || len(free) > 1 {
+		if len(free) > 1 && (leaves == 0 || next(2) == 0) {
+			a := take()
+			l = append(l, Op(operator(next), a, take()))
+		} else {
+			l = append(l, leaf(next))
+			leaves--
+		}
+		free = append(free, len(l)-1)
+	}
+	return l
 }

@@ -25,20 +25,29 @@ func Check(vars int, l []api.Term) api.Errno {
 
 // checkTerm validates a term that has the given number of terms before it.
 func checkTerm(vars, before int, t api.Term) api.Errno {
-	isValue, isVar, isBefore := below(modulus), below(vars), below(before)
-	switch t.Op {
+	if e := CheckOperation(vars, t.Op, t.Val); e != api.OK {
+		return e
+	}
+	isBefore := below(before)
+	if !IsLeaf(t.Op) && (!isBefore(t.A) || !isBefore(t.B)) {
+		return api.ErrArg
+	}
+	return api.OK
+}
+
+// CheckOperation validates an operation and, if it is a number or a variable, val as that.
+func CheckOperation(vars, op, val int) api.Errno {
+	isValue, isVar := below(modulus), below(vars)
+	switch op {
 	case api.ONum:
-		if !isValue(t.Val) {
+		if !isValue(val) {
 			return api.ErrRange
 		}
 	case api.OVar:
-		if !isVar(t.Val) {
+		if !isVar(val) {
 			return api.ErrRange
 		}
 	case api.OAdd, api.OSub, api.OMul, api.OLess:
-		if !isBefore(t.A) || !isBefore(t.B) {
-			return api.ErrArg
-		}
 	default:
 		return api.ErrKind
 	}

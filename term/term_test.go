@@ -160,24 +160,9 @@ func TestValue(t *testing.T) {
 
 // A2: invalid values of the variables.
 func TestValueRejectsHave(t *testing.T) {
-	for _, c := range []struct {
-		name string
-		vars int
-		have []int
-		want api.Errno
-	}{
-		{"nil", 1, nil, api.ErrForm},
-		{"too few", 2, []int{1}, api.ErrForm},
-		{"too many", 2, []int{1, 2, 3}, api.ErrForm},
-		{"one for no variables", 0, []int{1}, api.ErrForm},
-		{"form before range", 2, []int{-1}, api.ErrForm},
-		{"-1", 2, []int{-1, 0}, api.ErrRange},
-		{"256, of a variable that does not occur", 2, []int{0, 256}, api.ErrRange},
-		{"smallest", 1, []int{math.MinInt}, api.ErrRange},
-		{"greatest", 1, []int{math.MaxInt}, api.ErrRange},
-	} {
-		if v, e := term.Value(c.vars, []api.Term{num(1)}, c.have); v != 0 || e != c.want {
-			t.Errorf("%s: %v, %v, want 0, %v", c.name, v, e, c.want)
+	for _, c := range sample.BadHaves() {
+		if v, e := term.Value(c.Vars, []api.Term{num(1)}, c.Have); v != 0 || e != c.Want {
+			t.Errorf("%s: %v, %v, want 0, %v", c.Name, v, e, c.Want)
 		}
 	}
 }
@@ -383,6 +368,24 @@ func TestHelpers(t *testing.T) {
 		}
 		if e := term.CheckHave(a, []int{1}); e != api.ErrForm {
 			t.Errorf("CheckHave(%d, one value) = %v", a, e)
+		}
+	}
+	for _, c := range []struct {
+		vars, kind, val int
+		want            api.Errno
+	}{
+		{2, api.ONum, api.MaxVal, api.OK},
+		{2, api.ONum, api.MaxVal + 1, api.ErrRange},
+		{2, api.OVar, 1, api.OK},
+		{2, api.OVar, 2, api.ErrRange},
+		{math.MinInt, api.OVar, math.MinInt, api.ErrRange},
+		{2, api.OAdd, sample.Junk, api.OK},
+		{2, api.OLess, sample.Junk, api.OK},
+		{2, api.OLess + 1, 0, api.ErrKind},
+		{2, 0, 0, api.ErrKind},
+	} {
+		if e := term.CheckOperation(c.vars, c.kind, c.val); e != c.want {
+			t.Errorf("CheckOperation(%d, %d, %d) = %v, want %v", c.vars, c.kind, c.val, e, c.want)
 		}
 	}
 }
