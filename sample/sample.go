@@ -2,6 +2,7 @@
 package sample
 
 import (
+	"iter"
 	"math"
 	"slices"
 
@@ -102,27 +103,57 @@ func BadHaves() []BadHave {
 	}
 }
 
-// BadTree is a list that is invalid or not a tree.
-type BadTree struct {
+// BadList is a list that is invalid, or not of the kind that is asked for.
+type BadList struct {
 	Name string
 	Vars int
 	List []api.Term
 	Want api.Errno
 }
 
-// BadTrees lists invalid lists and lists that are not trees, which all functions of trees reject.
-func BadTrees() []BadTree {
-	twice := []api.Term{Var(0), Op(api.OAdd, 0, 0)}
-	return []BadTree{
-		{"vars below 0", -1, []api.Term{Num(1)}, api.ErrLarge},
-		{"vars too many", api.MaxVars + 1, []api.Term{Num(1)}, api.ErrLarge},
+// BadLists lists invalid lists of terms, which all functions of terms reject.
+func BadLists() []BadList {
+	unknown, tooGreat, loose := Op(99, 0, 0), Num(256), Op(api.OAdd, 5, 5)
+	bad := []BadList{
 		{"nil", 0, nil, api.ErrLarge},
 		{"empty", 0, []api.Term{}, api.ErrLarge},
 		{"too many terms", 0, slices.Repeat([]api.Term{Num(1)}, api.MaxTerms+1), api.ErrLarge},
-		{"kind", 0, []api.Term{Op(0, 0, 0)}, api.ErrKind},
-		{"number", 0, []api.Term{Num(256)}, api.ErrRange},
-		{"variable", 1, []api.Term{Var(1)}, api.ErrRange},
-		{"operand", 1, []api.Term{Var(0), Op(api.OAdd, 0, 1)}, api.ErrArg},
+		{"large before kind", 7, []api.Term{unknown}, api.ErrLarge},
+		{"too many before kind", 0, slices.Repeat([]api.Term{unknown}, api.MaxTerms+1), api.ErrLarge},
+		{"variable 0 of 0", 0, []api.Term{Var(0)}, api.ErrRange},
+		{"invalid term that is not used", 1, []api.Term{tooGreat, Num(1)}, api.ErrRange},
+		{"first is range", 1, []api.Term{tooGreat, unknown, loose}, api.ErrRange},
+		{"first is kind", 1, []api.Term{Num(1), unknown, tooGreat, loose}, api.ErrKind},
+		{"first is arg", 1, []api.Term{loose, tooGreat, unknown}, api.ErrArg},
+	}
+	for _, vars := range Outside(api.MaxVars + 1) {
+		bad = append(bad, BadList{"vars", vars, []api.Term{Num(1)}, api.ErrLarge})
+	}
+	for _, val := range Outside(api.MaxVal + 1) {
+		bad = append(bad, BadList{"number", 0, []api.Term{Num(val)}, api.ErrRange})
+	}
+	for _, val := range Outside(2) {
+		bad = append(bad, BadList{"variable", 2, []api.Term{Var(val)}, api.ErrRange})
+	}
+	for _, kind := range []int{math.MinInt, -1, 0, api.OLess + 1, math.MaxInt} {
+		// Neither Val nor A and B matter where the kind is unknown.
+		bad = append(bad, BadList{"kind", 1, []api.Term{Num(1), {Op: kind, A: -1, B: 9, Val: -1}}, api.ErrKind})
+	}
+	for kind := api.OAdd; kind <= api.OLess; kind++ {
+		for _, arg := range Outside(1) {
+			bad = append(bad,
+				BadList{"A", 1, []api.Term{Num(1), Op(kind, arg, 0), Num(1)}, api.ErrArg},
+				BadList{"B", 1, []api.Term{Num(1), Op(kind, 0, arg), Num(1)}, api.ErrArg})
+		}
+		bad = append(bad, BadList{"no term before", 1, []api.Term{Op(kind, 0, 0)}, api.ErrArg})
+	}
+	return bad
+}
+
+// BadTrees lists invalid lists and lists that are not trees, which all functions of trees reject.
+func BadTrees() []BadList {
+	twice := []api.Term{Var(0), Op(api.OAdd, 0, 0)}
+	return append(BadLists(), []BadList{
 		{"kind before form", 1, append(slices.Clone(twice), Op(99, 0, 0)), api.ErrKind},
 		{"arg before form", 1, append(slices.Clone(twice), Op(api.OAdd, 0, 3)), api.ErrArg},
 		{"both operands", 1, twice, api.ErrForm},
@@ -133,7 +164,58 @@ func BadTrees() []BadTree {
 		{"one twice, another one never", 1, []api.Term{
 			Num(1), Num(2), Num(3), Op(api.OAdd, 0, 1), Op(api.OMul, 3, 1)}, api.ErrForm},
 		{"an even number of terms", 1, append(slices.Repeat([]api.Term{Num(1)}, 15), Op(api.OAdd, 0, 1)), api.ErrForm},
+	}...)
+}
+
+// ShortLists yields all lists of 1 to most terms with these leaves. A list is valid until the next one is yielded.
+func ShortLists(leaves []api.Term, most int) iter.Seq[[]api.Term] {
+	return func(yield func(l []api.Term) bool) {
+		var extend func(l []api.Term) bool
+		extend = func(l []api.Term) bool {
+			if len(l) > 0 && !yield(l) {
+				return false
+			}
+			if len(l) == most {
+				return true
+			}
+			for _, t := range slices.Concat(leaves, operations(len(l))) {
+				if !extend(append(l, t)) {
+					return false
+				}
+			}
+			return true
+		}
+		extend(nil)
 	}
+}
+
+// operations lists all operations of two of so many terms.
+func operations(terms int) []api.Term {
+	var all []api.Term
+	for kind := api.OAdd; kind <= api.OLess; kind++ {
+		for a := range terms {
+			for b := range terms {
+				all = append(all, Op(kind, a, b))
+			}
+		}
+	}
+	return all
+}
+
+// List builds a list of so many terms over so many variables and numbers: at least one of each.
+func List(next func(int) int, terms, vars, numbers int) []api.Term {
+	l := []api.Term{Num(next(numbers)), Var(next(vars))}
+	for len(l) < terms {
+		switch next(6) {
+		case 0:
+			l = append(l, Num(next(numbers)))
+		case 1:
+			l = append(l, Var(next(vars)))
+		default:
+			l = append(l, Op(operator(next), next(len(l)), next(len(l))))
+		}
+	}
+	return l
 }
 
 // leaf returns a number or a variable.

@@ -149,7 +149,7 @@ func Fold(vars int, l []api.Term) ([]api.Term, api.Errno) {
 	if e := Check(vars, l); e != api.OK {
 		return nil, e
 	}
-	return prune(combine(l)), api.OK
+	return Prune(vars, combine(l))
 }
 
 // combine replaces each operator of two numbers by a number, and sets unused fields to 0.
@@ -173,8 +173,11 @@ func combineTerm(t api.Term, before []api.Term) api.Term {
 	return api.Term{Op: t.Op, A: t.A, B: t.B}
 }
 
-// prune returns the terms that the last one needs, with A and B renumbered.
-func prune(l []api.Term) []api.Term {
+// Prune returns the last term and those on which it depends, with A and B renumbered.
+func Prune(vars int, l []api.Term) ([]api.Term, api.Errno) {
+	if e := Check(vars, l); e != api.OK {
+		return nil, e
+	}
 	var kept []api.Term
 	place := make([]int, len(l))
 	for i, needed := range needs(l) {
@@ -188,5 +191,5 @@ func prune(l []api.Term) []api.Term {
 		place[i] = len(kept)
 		kept = append(kept, t)
 	}
-	return kept
+	return kept, api.OK
 }

@@ -15,69 +15,26 @@ var num, variable, op = sample.Num, sample.Var, sample.Op
 
 func repeat(t api.Term, n int) []api.Term { return slices.Repeat([]api.Term{t}, n) }
 
-// bad is a call with invalid terms, which all functions reject with the same error.
-type bad struct {
-	name string
-	vars int
-	l    []api.Term
-	want api.Errno
-}
-
-func badCalls() []bad {
-	calls := []bad{
-		{"vars -1", -1, repeat(num(1), 1), api.ErrLarge},
-		{"vars too many", api.MaxVars + 1, repeat(num(1), 1), api.ErrLarge},
-		{"vars smallest", math.MinInt, repeat(num(1), 1), api.ErrLarge},
-		{"vars greatest", math.MaxInt, repeat(num(1), 1), api.ErrLarge},
-		{"nil", 0, nil, api.ErrLarge},
-		{"empty", 0, []api.Term{}, api.ErrLarge},
-		{"too many terms", 0, repeat(num(1), api.MaxTerms+1), api.ErrLarge},
-		{"large before kind", 7, []api.Term{op(0, 0, 0)}, api.ErrLarge},
-		{"too many before kind", 0, repeat(op(0, 0, 0), api.MaxTerms+1), api.ErrLarge},
-		{"number -1", 0, []api.Term{num(-1)}, api.ErrRange},
-		{"number 256", 0, []api.Term{num(api.MaxVal + 1)}, api.ErrRange},
-		{"number smallest", 0, []api.Term{num(math.MinInt)}, api.ErrRange},
-		{"number greatest", 0, []api.Term{num(math.MaxInt)}, api.ErrRange},
-		{"variable -1", 2, []api.Term{variable(-1)}, api.ErrRange},
-		{"variable 2 of 2", 2, []api.Term{variable(2)}, api.ErrRange},
-		{"variable 0 of 0", 0, []api.Term{variable(0)}, api.ErrRange},
-		{"invalid term that is not used", 1, []api.Term{num(256), num(1)}, api.ErrRange},
-		{"first is range", 1, []api.Term{num(256), op(99, 0, 0), op(api.OAdd, 5, 5)}, api.ErrRange},
-		{"first is kind", 1, []api.Term{num(1), op(99, 0, 0), num(256), op(api.OAdd, 5, 5)}, api.ErrKind},
-		{"first is arg", 1, []api.Term{op(api.OAdd, 5, 5), num(256), op(99, 0, 0)}, api.ErrArg},
-	}
-	for _, kind := range []int{math.MinInt, -1, 0, api.OLess + 1, math.MaxInt} {
-		// Neither Val nor A and B matter where the kind is unknown.
-		calls = append(calls, bad{"kind", 1, []api.Term{num(1), {Op: kind, A: -1, B: 9, Val: -1}}, api.ErrKind})
-	}
-	for _, kind := range []int{api.OAdd, api.OSub, api.OMul, api.OLess} {
-		for _, arg := range []int{math.MinInt, -1, 1, 2, math.MaxInt} {
-			calls = append(calls,
-				bad{"A", 1, []api.Term{num(1), op(kind, arg, 0), num(1)}, api.ErrArg},
-				bad{"B", 1, []api.Term{num(1), op(kind, 0, arg), num(1)}, api.ErrArg})
-		}
-		calls = append(calls, bad{"no term before", 1, []api.Term{op(kind, 0, 0)}, api.ErrArg})
-	}
-	return calls
-}
-
 // A1, and the errors of Check in the functions of A2.
 func TestInvalidTerms(t *testing.T) {
-	for _, c := range badCalls() {
-		if e := term.Check(c.vars, c.l); e != c.want {
-			t.Errorf("%s: Check(%d, %v) = %v, want %v", c.name, c.vars, c.l, e, c.want)
+	for _, c := range sample.BadLists() {
+		if e := term.Check(c.Vars, c.List); e != c.Want {
+			t.Errorf("%s: Check(%d, %v) = %v, want %v", c.Name, c.Vars, c.List, e, c.Want)
 		}
 		// Values that are wrong too: the errors of Check come first.
 		for _, have := range [][]int{nil, {-1}, {1, 2, 3, 4, 5, 6, 7, 8}} {
-			if v, e := term.Value(c.vars, c.l, have); v != 0 || e != c.want {
-				t.Errorf("%s: Value(%d, %v, %v) = %v, %v, want 0, %v", c.name, c.vars, c.l, have, v, e, c.want)
+			if v, e := term.Value(c.Vars, c.List, have); v != 0 || e != c.Want {
+				t.Errorf("%s: Value(%d, %v, %v) = %v, %v, want 0, %v", c.Name, c.Vars, c.List, have, v, e, c.Want)
 			}
 		}
-		if s, e := term.Uses(c.vars, c.l); s != 0 || e != c.want {
-			t.Errorf("%s: Uses(%d, %v) = %v, %v, want 0, %v", c.name, c.vars, c.l, s, e, c.want)
+		if s, e := term.Uses(c.Vars, c.List); s != 0 || e != c.Want {
+			t.Errorf("%s: Uses(%d, %v) = %v, %v, want 0, %v", c.Name, c.Vars, c.List, s, e, c.Want)
 		}
-		if f, e := term.Fold(c.vars, c.l); len(f) != 0 || e != c.want {
-			t.Errorf("%s: Fold(%d, %v) = %v, %v, want an empty list, %v", c.name, c.vars, c.l, f, e, c.want)
+		if f, e := term.Fold(c.Vars, c.List); len(f) != 0 || e != c.Want {
+			t.Errorf("%s: Fold(%d, %v) = %v, %v, want an empty list, %v", c.Name, c.Vars, c.List, f, e, c.Want)
+		}
+		if p, e := term.Prune(c.Vars, c.List); len(p) != 0 || e != c.Want {
+			t.Errorf("%s: Prune(%d, %v) = %v, %v, want an empty list, %v", c.Name, c.Vars, c.List, p, e, c.Want)
 		}
 	}
 }
@@ -230,46 +187,44 @@ func sameTerm(x, y api.Term) bool {
 	return x.Op == y.Op && x.A == y.A && x.B == y.B
 }
 
+// Prune: what the last term does not need is left out, and nothing else changes.
+func TestPrune(t *testing.T) {
+	for _, c := range []struct {
+		name    string
+		l, want []api.Term
+	}{
+		{"number", []api.Term{num(8)}, []api.Term{num(8)}},
+		{"not needed", []api.Term{variable(0), variable(1)}, []api.Term{variable(1)}},
+		{"not folded", []api.Term{num(2), op(api.OAdd, 0, 0)}, []api.Term{num(2), op(api.OAdd, 0, 0)}},
+		{"not needed by the last one", []api.Term{
+			num(1), variable(0), op(api.OSub, 0, 1), variable(1), num(1), op(api.OLess, 4, 3), op(api.OMul, 5, 1),
+		}, []api.Term{variable(0), variable(1), num(1), op(api.OLess, 2, 1), op(api.OMul, 3, 0)}},
+	} {
+		before := slices.Clone(c.l)
+		p, e := term.Prune(2, c.l)
+		if e != api.OK || !slices.EqualFunc(p, c.want, sameTerm) {
+			t.Errorf("%s: %v, %v, want %v", c.name, p, e, c.want)
+		}
+		clear(p[:cap(p)])
+		if !slices.Equal(c.l, before) {
+			t.Errorf("%s: the argument changed", c.name)
+		}
+	}
+}
+
 // A2: what Fold promises, for all short lists over two variables and two numbers.
 func TestFoldOfShortLists(t *testing.T) {
 	leaves := []api.Term{num(0), num(255), variable(0), variable(1)}
-	var extend func(l []api.Term)
-	extend = func(l []api.Term) {
-		if len(l) > 0 {
-			checkFold(t, 2, l, [][]int{{0, 0}, {1, 0}, {0, 255}, {7, 200}, {200, 7}})
-		}
-		if len(l) == 4 || t.Failed() {
-			return
-		}
-		for _, leaf := range leaves {
-			extend(append(l, leaf))
-		}
-		for kind := api.OAdd; kind <= api.OLess; kind++ {
-			for a := range l {
-				for b := range l {
-					extend(append(l, op(kind, a, b)))
-				}
-			}
-		}
+	for l := range sample.ShortLists(leaves, 4) {
+		checkFold(t, 2, l, [][]int{{0, 0}, {1, 0}, {0, 255}, {7, 200}, {200, 7}})
 	}
-	extend(nil)
 }
 
 // A2: what Fold promises, for longer lists that follow a fixed rule.
 func TestFoldOfLongLists(t *testing.T) {
 	next := sample.Numbers()
-	for round := 0; round < 20000 && !t.Failed(); round++ {
-		l := []api.Term{num(next(256)), variable(next(api.MaxVars))}
-		for len(l) < 3+round%(api.MaxTerms-2) {
-			switch next(6) {
-			case 0:
-				l = append(l, num(next(256)))
-			case 1:
-				l = append(l, variable(next(api.MaxVars)))
-			default:
-				l = append(l, op(api.OAdd+next(4), next(len(l)), next(len(l))))
-			}
-		}
+	for round := range 20000 {
+		l := sample.List(next, 3+round%(api.MaxTerms-2), api.MaxVars, api.MaxVal+1)
 		var haves [][]int
 		for range 4 {
 			haves = append(haves, []int{next(256), next(256), next(256), next(256), next(256), next(256)})
