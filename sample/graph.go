@@ -99,3 +99,14 @@ func Graph(next func(int) int, nodes, most int) [][]int {
 	}
 	return graph
 }
+
+// WatchedGraph is a graph with the lists {1, 2}, {0, 2} and {2}, and a function that tells whether it has changed, also beyond the length of a list.
+func WatchedGraph() (next [][]int, changed func() bool) {
+	edges := []int{1, 2, 99, 0, 2, 98, 2, 97}
+	lists := [][]int{edges[:2], edges[3:5], edges[6:7], edges[7:]}
+	edgesBefore, listsBefore := slices.Clone(edges), slices.Clone(lists)
+	same := func(a, b []int) bool { return len(a) == len(b) && &a[0] == &b[0] }
+	return lists[:3], func() bool {
+		return !slices.Equal(edges, edgesBefore) || !slices.EqualFunc(lists, listsBefore, same)
+	}
+}

@@ -180,12 +180,24 @@ func retreating(next [][]int, finish []int) [][2]int {
 	return all
 }
 
+// Every number may be asked for, also one that no node has.
+func TestHas(t *testing.T) {
+	const set = 1<<0 | 1<<3 | 1<<31
+	for v := range 64 {
+		if is, want := way.Has(set, v), v == 0 || v == 3 || v == 31; is != want {
+			t.Errorf("Has(%b, %d) = %v, want %v", uint32(set), v, is, want)
+		}
+	}
+	for _, v := range sample.Outside(32) {
+		if way.Has(1<<32-1, v) {
+			t.Errorf("the set of all has %d", v)
+		}
+	}
+}
+
 // P3: arguments stay as they are, also beyond their length, and results share no memory.
 func TestMemory(t *testing.T) {
-	edges := []int{1, 2, 99, 0, 2, 98, 2, 97}
-	lists := [][]int{edges[:2], edges[3:5], edges[6:7], {96}}
-	edgesBefore := slices.Clone(edges)
-	next := lists[:3]
+	next, changed := sample.WatchedGraph()
 	for range 2 {
 		checkGraph(t, "memory", next, 7, []int{0, 1, 2}, [][2]int{{1, 0}, {2, 2}}, []uint32{3, 3, 4})
 		order, _ := way.Order(next)
@@ -195,10 +207,7 @@ func TestMemory(t *testing.T) {
 		clear(back[:cap(back)])
 		clear(parts[:cap(parts)])
 	}
-	if !slices.Equal(edges, edgesBefore) {
-		t.Errorf("the edges changed: %v", edges)
-	}
-	if &lists[0][0] != &edges[0] || &lists[1][0] != &edges[3] || &lists[2][0] != &edges[6] || lists[3][0] != 96 {
-		t.Errorf("the lists changed: %v", lists)
+	if changed() {
+		t.Errorf("the argument changed: %v", next)
 	}
 }
