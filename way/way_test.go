@@ -195,6 +195,21 @@ func TestHas(t *testing.T) {
 	}
 }
 
+// The sets of some nodes: none, one, several and those that have no set.
+func TestUnion(t *testing.T) {
+	sets := []uint32{1 << 1, 0, 1<<31 | 1, 1 << 4}
+	for _, c := range []struct{ nodes, want uint32 }{
+		{0, 0}, {1, 2}, {2, 0}, {4, 1<<31 | 1}, {9, 1<<4 | 2}, {15, 1<<31 | 19}, {1<<32 - 1, 1<<31 | 19}, {1 << 4, 0},
+	} {
+		if all := way.Union(sets, c.nodes); all != c.want {
+			t.Errorf("Union(%b, %b) = %b, want %b", sets, c.nodes, all, c.want)
+		}
+	}
+	if all := way.Union(nil, 1); all != 0 {
+		t.Errorf("Union(nil, 1) = %b, want 0", all)
+	}
+}
+
 // P3: arguments stay as they are, also beyond their length, and results share no memory.
 func TestMemory(t *testing.T) {
 	next, changed := sample.WatchedGraph()
