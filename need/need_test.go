@@ -105,6 +105,55 @@ func badRuns() []badRun {
 	return calls
 }
 
+// B1: the errors of one step, and no value with an error.
+func TestBadSteps(t *testing.T) {
+	check := func(name string, vars, regs int, step api.Step, want api.Errno) {
+		t.Helper()
+		if e := need.CheckStep(vars, regs, step); e != want {
+			t.Errorf("%s: CheckStep(%d, %d, %v) = %v, want %v", name, vars, regs, step, e, want)
+		}
+		have, vals := make([]int, vars), slices.Repeat([]int{7}, regs)
+		if v, e := need.StepValue(step, vals, have); v != 0 || e != want {
+			t.Errorf("%s: StepValue(%v, %v, %v) = %d, %v, want %v", name, step, vals, have, v, e, want)
+		}
+	}
+	for vars := range 4 {
+		for regs := range 4 {
+			for _, c := range sample.BadSteps(max(vars, regs)) {
+				if vars > 0 || c.Step.Op != api.OVar {
+					check(c.Name, vars, regs, c.Step, c.Want)
+				}
+			}
+			check("variable that there is not", vars, regs, setVar(0, vars), api.ErrRange)
+			check("To that there is not", vars, regs, setNum(regs, 1), api.ErrArg)
+			check("A that there is not", vars, regs, set(api.OAdd, 0, regs, 0), api.ErrArg)
+			check("B that there is not", vars, regs, set(api.OAdd, 0, 0, regs), api.ErrArg)
+			if vars > 0 && regs > 0 {
+				check("valid", vars, regs, setVar(regs-1, vars-1), api.OK)
+			}
+		}
+	}
+}
+
+// B1: what one step assigns.
+func TestStepValue(t *testing.T) {
+	vals, have := []int{3, 5, 255}, []int{9, 8}
+	for _, c := range []struct {
+		step api.Step
+		want int
+	}{
+		{setNum(2, 255), 255}, {setVar(2, 0), 9}, {setVar(0, 1), 8}, {set(api.OAdd, 0, 1, 2), 4},
+		{set(api.OSub, 1, 0, 1), 254}, {set(api.OMul, 0, 1, 1), 25}, {set(api.OLess, 2, 0, 1), 1}, {set(api.OLess, 2, 1, 0), 0},
+	} {
+		if v, e := need.StepValue(c.step, vals, have); v != c.want || e != api.OK {
+			t.Errorf("StepValue(%v, %v, %v) = %d, %v, want %d", c.step, vals, have, v, e, c.want)
+		}
+	}
+	if !slices.Equal(vals, []int{3, 5, 255}) || !slices.Equal(have, []int{9, 8}) {
+		t.Errorf("arguments changed: %v, %v", vals, have)
+	}
+}
+
 // badSteps are invalid calls of Run with all sorts of invalid numbers, with two variables and two registers.
 func badSteps() []badRun {
 	var calls []badRun

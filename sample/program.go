@@ -1,0 +1,213 @@
+package sample
+
+import (
+	"math"
+	"slices"
+
+	"codemason/api"
+)
+
+// Stop is a block behind which a program stops.
+func Stop(code ...api.Step) api.Block {
+	return api.Block{Code: code, Test: -1, Then: -1, Else: Junk}
+}
+
+// Jump is a block that continues with the block to.
+func Jump(to int, code ...api.Step) api.Block {
+	return api.Block{Code: code, Test: -1, Then: to, Else: Junk}
+}
+
+// Branch is a block that continues with the block then if the variable test is not 0, and else with the block other.
+func Branch(test, then, other int, code ...api.Step) api.Block {
+	return api.Block{Code: code, Test: test, Then: then, Else: other}
+}
+
+// BadStep is a step that is invalid.
+type BadStep struct {
+	Name string
+	Step api.Step
+	Want api.Errno
+}
+
+// BadSteps lists steps that are invalid where so many variables are the registers.
+func BadSteps(vars int) []BadStep {
+	bad := []BadStep{
+		{"kind before range", api.Step{Op: 7, Val: 256}, api.ErrKind},
+		{"kind before arg", api.Step{Op: 99, To: Junk, A: Junk, B: Junk, Val: Junk}, api.ErrKind},
+		{"number before arg", SetNum(vars, 256), api.ErrRange},
+		{"variable before arg", SetVar(vars, vars), api.ErrRange},
+	}
+	for _, kind := range []int{math.MinInt, -1, 0, api.OLess + 1, math.MaxInt} {
+		bad = append(bad, BadStep{"kind", api.Step{Op: kind}, api.ErrKind})
+	}
+	for _, v := range Outside(api.MaxVal + 1) {
+		bad = append(bad, BadStep{"number", SetNum(0, v), api.ErrRange})
+	}
+	for _, v := range Outside(vars) {
+		bad = append(bad,
+			BadStep{"variable", SetVar(0, v), api.ErrRange},
+			BadStep{"To of a number", SetNum(v, 1), api.ErrArg},
+			BadStep{"To of a variable", SetVar(v, 0), api.ErrArg})
+		for kind := api.OAdd; kind <= api.OLess; kind++ {
+			bad = append(bad,
+				BadStep{"To", SetOp(kind, v, 0, 0), api.ErrArg},
+				BadStep{"A", SetOp(kind, 0, v, 0), api.ErrArg},
+				BadStep{"B", SetOp(kind, 0, 0, v), api.ErrArg})
+		}
+	}
+	return bad
+}
+
+// BadProgram is a program that is invalid.
+type BadProgram struct {
+	Name    string
+	Vars    int
+	Program []api.Block
+	Want    api.Errno
+}
+
+// BadPrograms lists invalid programs, which all functions of programs reject.
+func BadPrograms() []BadProgram {
+	return slices.Concat(largePrograms(), badBlocks(), mixedPrograms())
+}
+
+// largePrograms lists programs with too much or too little of something, which counts before what is wrong in a block.
+func largePrograms() []BadProgram {
+	some := slices.Repeat([]api.Step{SetNum(0, 1)}, 3)
+	most := slices.Repeat([]api.Step{SetNum(0, 1)}, api.MaxLines)
+	more := append(slices.Clone(most), SetNum(0, 1))
+	bad := []BadProgram{
+		{"nil", 1, nil, api.ErrLarge},
+		{"empty", 1, []api.Block{}, api.ErrLarge},
+		{"too many blocks", 1, slices.Repeat([]api.Block{Stop()}, api.MaxNodes+1), api.ErrLarge},
+		{"too many steps", 1, []api.Block{Stop(more...)}, api.ErrLarge},
+		{"too many steps of the last block", 1, []api.Block{Jump(1), Stop(more...)}, api.ErrLarge},
+		{"too many steps in total", 1, []api.Block{Jump(1, most...), Stop(some[:1]...)}, api.ErrLarge},
+		{"too many steps with those that are not executed", 1, []api.Block{Stop(some[:1]...), Stop(most...)}, api.ErrLarge},
+		{"too many steps of many blocks", 1, slices.Repeat([]api.Block{Stop(some...)}, 7), api.ErrLarge},
+		{"too many blocks before kind", 1, slices.Repeat([]api.Block{Stop(api.Step{})}, api.MaxNodes+1), api.ErrLarge},
+		{"too many steps before kind", 1, []api.Block{Stop(append(most, api.Step{})...)}, api.ErrLarge},
+		{"too many steps before arg", 1, []api.Block{Branch(9, 0, 0, more...)}, api.ErrLarge},
+		{"too many steps before form", 1, []api.Block{Jump(9, more...)}, api.ErrLarge},
+	}
+	for _, vars := range append(Outside(api.MaxVars+1), 0) {
+		bad = append(bad,
+			BadProgram{"vars", vars, []api.Block{Stop()}, api.ErrLarge},
+			BadProgram{"vars before kind", vars, []api.Block{Stop(api.Step{})}, api.ErrLarge},
+			BadProgram{"vars before form", vars, []api.Block{Jump(1)}, api.ErrLarge})
+	}
+	return bad
+}
+
+// badBlocks lists programs in which one block is invalid, whether it can be executed or not.
+func badBlocks() []BadProgram {
+	var bad []BadProgram
+	for blocks := 1; blocks <= api.MaxNodes; blocks++ {
+		for i := range blocks {
+			with := func(name string, want api.Errno, b api.Block) {
+				p := slices.Repeat([]api.Block{Stop(SetVar(0, 1), SetNum(1, 255))}, blocks)
+				p[i] = b
+				bad = append(bad, BadProgram{name, 2, p, want})
+			}
+			for _, s := range BadSteps(2) {
+				with(s.Name, s.Want, Stop(SetNum(0, 1), s.Step, SetNum(0, 1)))
+			}
+			for _, v := range []int{math.MinInt, -2, 2, 3, math.MaxInt} {
+				with("Test", api.ErrArg, Branch(v, 0, 0))
+				with("Test where Then is -1", api.ErrArg, Branch(v, -1, 0))
+			}
+			for _, to := range Outside(blocks) {
+				with("Then", api.ErrForm, Branch(1, to, 0))
+				with("Else", api.ErrForm, Branch(1, 0, to))
+				with("Then and Else", api.ErrForm, Branch(1, to, to))
+			}
+			for _, to := range []int{math.MinInt, -2, blocks, blocks + 1, math.MaxInt} {
+				with("Then without Test", api.ErrForm, Jump(to))
+			}
+		}
+	}
+	return bad
+}
+
+// mixedPrograms lists programs with several errors, which show their order.
+func mixedPrograms() []BadProgram {
+	kind, value, arg := api.Step{Op: 99}, SetNum(0, 256), SetNum(5, 1)
+	return []BadProgram{
+		{"first step is kind", 1, []api.Block{Stop(SetNum(0, 1), kind, value, arg)}, api.ErrKind},
+		{"first step is range", 1, []api.Block{Stop(value, arg, kind)}, api.ErrRange},
+		{"first step is arg", 1, []api.Block{Stop(arg, kind, value)}, api.ErrArg},
+		{"kind before Test", 1, []api.Block{Branch(-2, 0, 0, SetNum(0, 1), kind)}, api.ErrKind},
+		{"range before Test", 1, []api.Block{Branch(1, 0, 0, SetNum(0, 1), value)}, api.ErrRange},
+		{"arg of a step before form", 1, []api.Block{Jump(1, SetNum(0, 1), arg)}, api.ErrArg},
+		{"range before form", 1, []api.Block{Branch(0, 0, 1, SetNum(0, 1), value)}, api.ErrRange},
+		{"Test before Then", 1, []api.Block{Branch(1, 1, 0)}, api.ErrArg},
+		{"Test before Else", 1, []api.Block{Branch(-2, 0, 1)}, api.ErrArg},
+		{"first block is kind", 1, []api.Block{Stop(), Stop(kind), Branch(1, 0, 0), Jump(9, value)}, api.ErrKind},
+		{"first block is range", 1, []api.Block{Stop(value), Branch(1, 0, 0), Jump(9), Stop(kind)}, api.ErrRange},
+		{"first block is Test", 1, []api.Block{Branch(1, 0, 0), Jump(9), Stop(kind), Stop(value)}, api.ErrArg},
+		{"first block is Then", 1, []api.Block{Jump(9), Stop(kind), Stop(value), Branch(1, 0, 0)}, api.ErrForm},
+		{"first block is Else", 1, []api.Block{Branch(0, 0, 9), Stop(kind), Stop(value), Branch(1, 0, 0)}, api.ErrForm},
+	}
+}
+
+// Program builds a program of so many blocks with so many steps in total.
+func Program(pick func(int) int, vars, blocks, lines int) []api.Block {
+	p := make([]api.Block, blocks)
+	for i := range p {
+		switch pick(6) {
+		case 0:
+			p[i] = Stop()
+		case 1, 2:
+			p[i] = Jump(pick(blocks))
+		default:
+			p[i] = Branch(pick(vars), pick(blocks), pick(blocks))
+		}
+	}
+	for range lines {
+		b := &p[pick(blocks)]
+		b.Code = append(b.Code, Step(pick, vars))
+	}
+	return p
+}
+
+// Step builds a step over so many variables: its numbers are small or any.
+func Step(pick func(int) int, vars int) api.Step {
+	to := pick(vars)
+	switch pick(8) {
+	case 0:
+		return SetNum(to, pick(3))
+	case 1:
+		return SetNum(to, pick(api.MaxVal+1))
+	case 2, 3:
+		return SetVar(to, pick(vars))
+	}
+	return SetOp(operator(pick), to, pick(vars), pick(vars))
+}
+
+// Values builds values of so many variables: each is small or any.
+func Values(pick func(int) int, vars int) []int {
+	have := make([]int, vars)
+	for v := range have {
+		have[v] = pick([]int{3, api.MaxVal + 1}[pick(2)])
+	}
+	return have
+}
+
+// WatchedProgram is a program over two variables, and a function that tells whether it has changed, also beyond the length of a list. It takes 1 from variable 0 until that is 0.
+func WatchedProgram() (p []api.Block, changed func() bool) {
+	wrong := api.Step{Op: 99}
+	steps := []api.Step{
+		SetVar(1, 0), wrong,
+		SetNum(1, 1), SetOp(api.OSub, 0, 0, 1), wrong,
+		wrong,
+	}
+	blocks := []api.Block{Jump(1, steps[:1]...), Branch(0, 1, 2, steps[2:4]...), Stop(steps[5:5]...), Jump(99)}
+	stepsBefore, blocksBefore := slices.Clone(steps), slices.Clone(blocks)
+	same := func(a, b api.Block) bool {
+		sameCode := len(a.Code) == len(b.Code) && (len(a.Code) == 0 || &a.Code[0] == &b.Code[0])
+		return sameCode && a.Test == b.Test && a.Then == b.Then && a.Else == b.Else
+	}
+	return blocks[:3], func() bool {
+		return !slices.Equal(steps, stepsBefore) || !slices.EqualFunc(blocks, blocksBefore, same)
+	}
+}
