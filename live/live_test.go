@@ -143,7 +143,7 @@ func TestTrim(t *testing.T) {
 		{"fields that are not used stay as they are", 0b0001, []api.Block{{Code: []api.Step{{Op: api.ONum, To: 0, A: 7, B: 8, Val: 9}, one}, Test: -1, Then: -1, Else: 5}},
 			[]api.Block{{Code: []api.Step{{Op: api.ONum, To: 0, A: 7, B: 8, Val: 9}}, Test: -1, Then: -1, Else: 5}}},
 	} {
-		if q, e := live.Trim(4, c.p, c.set); !sameProgram(q, c.want) || e != api.OK {
+		if q, e := live.Trim(4, c.p, c.set); !sample.SameProgram(q, c.want) || e != api.OK {
 			t.Errorf("%s: Trim(4, %v, %b) = %v, %v, want %v", c.name, c.p, c.set, q, e, c.want)
 		}
 		checkDefinitions(t, 4, c.p, c.set)
@@ -152,20 +152,9 @@ func TestTrim(t *testing.T) {
 
 // K1, K2: all programs of two blocks over two variables, with at most one step in each of them.
 func TestShortPrograms(t *testing.T) {
-	var blocks []api.Block
-	for _, code := range shortCode() {
-		for then := -1; then < 2; then++ {
-			blocks = append(blocks, api.Block{Code: code, Test: -1, Then: then, Else: sample.Junk})
-		}
-		for fields := range 8 {
-			blocks = append(blocks, branch(fields&1, fields>>1&1, fields>>2, code...))
-		}
-	}
-	for _, a := range blocks {
-		for _, b := range blocks {
-			for set := range uint32(4) {
-				checkDefinitions(t, 2, []api.Block{a, b}, set)
-			}
+	for p := range sample.ShortPrograms(shortCode()) {
+		for set := range uint32(4) {
+			checkDefinitions(t, 2, p, set)
 		}
 	}
 }
@@ -192,11 +181,11 @@ func TestPrograms(t *testing.T) {
 	for round := range 6000 {
 		vars, blocks, lines := 1+round%api.MaxVars, 1+pick(api.MaxNodes), pick(api.MaxLines+1)
 		p := sample.Program(pick, vars, blocks, lines)
-		fill(pick, vars, p)
+		sample.FillUnused(pick, vars, p)
 		set := uint32(pick(1 << vars))
 		q := checkDefinitions(t, vars, p, set)
-		removed += lines - countSteps(q)
-		kept += countSteps(q)
+		removed += lines - sample.CountSteps(q)
+		kept += sample.CountSteps(q)
 		for range 3 {
 			if checkRuns(t, vars, p, q, set, sample.Values(pick, vars)) {
 				stopped++
@@ -206,32 +195,6 @@ func TestPrograms(t *testing.T) {
 	if removed < 10000 || kept < 10000 || stopped < 5000 {
 		t.Errorf("only %d steps were removed, %d kept; only %d runs stopped", removed, kept, stopped)
 	}
-}
-
-// fill puts numbers of variables or blocks into the fields that are not used.
-func fill(pick func(int) int, vars int, p []api.Block) {
-	for i := range p {
-		if p[i].Test == -1 {
-			p[i].Else = pick(len(p))
-		}
-		for k := range p[i].Code {
-			s := &p[i].Code[k]
-			if s.Op == api.ONum || s.Op == api.OVar {
-				s.A, s.B = pick(vars), pick(vars)
-			} else {
-				s.Val = pick(vars)
-			}
-		}
-	}
-}
-
-// countSteps is the number of steps of all blocks.
-func countSteps(p []api.Block) int {
-	count := 0
-	for _, b := range p {
-		count += len(b.Code)
-	}
-	return count
 }
 
 // checkRuns checks that a trimmed program executes the same blocks and leaves the same values in the needed variables, and reports whether it stops.
@@ -265,7 +228,7 @@ func checkDefinitions(t *testing.T, vars int, p []api.Block, set uint32) []api.B
 		t.Fatalf("In(%d, %v, %b) = %b, %v, want %b", vars, p, set, in, e, want)
 	}
 	q, e := live.Trim(vars, p, set)
-	if wantProgram := trimmed(p, set); !sameProgram(q, wantProgram) || e != api.OK {
+	if wantProgram := trimmed(p, set); !sample.SameProgram(q, wantProgram) || e != api.OK {
 		t.Fatalf("Trim(%d, %v, %b) = %v, %v, want %v", vars, p, set, q, e, wantProgram)
 	}
 	return q
@@ -341,13 +304,6 @@ func deadStep(p []api.Block, set uint32) (i, k int) {
 	return -1, -1
 }
 
-// sameProgram reports whether two programs are the same in all fields.
-func sameProgram(p, q []api.Block) bool {
-	return slices.EqualFunc(p, q, func(a, b api.Block) bool {
-		return slices.Equal(a.Code, b.Code) && a.Test == b.Test && a.Then == b.Then && a.Else == b.Else
-	})
-}
-
 // P3: the program stays as it is, also beyond the length of a list, and results share no memory.
 func TestMemory(t *testing.T) {
 	p, changed := sample.WatchedProgram()
@@ -361,28 +317,16 @@ func TestMemory(t *testing.T) {
 			in, _ := live.In(2, p, set)
 			clear(in[:cap(in)])
 			q, _ := live.Trim(2, p, set)
-			checkApart(t, q)
+			if sample.SharesCode(q) {
+				t.Errorf("lists share memory: %v", q)
+			}
 			q, _ = live.Trim(3, more, set)
-			checkApart(t, q)
+			if sample.SharesCode(q) {
+				t.Errorf("lists share memory: %v", q)
+			}
 		}
 	}
-	if changed() || !sameProgram(more, long()) {
+	if changed() || !sample.SameProgram(more, long()) {
 		t.Errorf("the programs changed: %v, %v", p, more)
 	}
-}
-
-// checkApart overwrites a program, and checks that no two lists of it share memory.
-func checkApart(t *testing.T, p []api.Block) {
-	t.Helper()
-	for i, b := range p {
-		for k := range b.Code[:cap(b.Code)] {
-			b.Code[:cap(b.Code)][k] = api.Step{Val: i}
-		}
-	}
-	for i, b := range p {
-		if slices.ContainsFunc(b.Code[:cap(b.Code)], func(s api.Step) bool { return s.Val != i }) {
-			t.Errorf("lists share memory: %v", p)
-		}
-	}
-	clear(p[:cap(p)])
 }

@@ -1,6 +1,7 @@
 package sample
 
 import (
+	"iter"
 	"math"
 	"slices"
 
@@ -210,4 +211,74 @@ func WatchedProgram() (p []api.Block, changed func() bool) {
 	return blocks[:3], func() bool {
 		return !slices.Equal(steps, stepsBefore) || !slices.EqualFunc(blocks, blocksBefore, same)
 	}
+}
+
+// ShortPrograms yields all programs of two blocks over two variables whose blocks have one of these lists of steps each.
+func ShortPrograms(code [][]api.Step) iter.Seq[[]api.Block] {
+	var blocks []api.Block
+	for _, c := range code {
+		for then := -1; then < 2; then++ {
+			blocks = append(blocks, Jump(then, c...))
+		}
+		for fields := range 8 {
+			blocks = append(blocks, Branch(fields&1, fields>>1&1, fields>>2, c...))
+		}
+	}
+	return func(yield func([]api.Block) bool) {
+		for _, a := range blocks {
+			for _, b := range blocks {
+				if !yield([]api.Block{a, b}) {
+					return
+				}
+			}
+		}
+	}
+}
+
+// FillUnused puts numbers of variables or blocks into the fields that are not used.
+func FillUnused(pick func(int) int, vars int, p []api.Block) {
+	for i := range p {
+		if p[i].Test == -1 {
+			p[i].Else = pick(len(p))
+		}
+		for k := range p[i].Code {
+			s := &p[i].Code[k]
+			if s.Op == api.ONum || s.Op == api.OVar {
+				s.A, s.B = pick(vars), pick(vars)
+			} else {
+				s.Val = pick(vars)
+			}
+		}
+	}
+}
+
+// CountSteps is the number of steps of all blocks.
+func CountSteps(p []api.Block) int {
+	count := 0
+	for _, b := range p {
+		count += len(b.Code)
+	}
+	return count
+}
+
+// SameProgram reports whether two programs are the same in all fields.
+func SameProgram(p, q []api.Block) bool {
+	return slices.EqualFunc(p, q, func(a, b api.Block) bool {
+		return slices.Equal(a.Code, b.Code) && a.Test == b.Test && a.Then == b.Then && a.Else == b.Else
+	})
+}
+
+// SharesCode overwrites a program, and reports whether two lists of it share memory.
+func SharesCode(p []api.Block) bool {
+	for i, b := range p {
+		for k := range b.Code[:cap(b.Code)] {
+			b.Code[:cap(b.Code)][k] = api.Step{Val: i}
+		}
+	}
+	shares := false
+	for i, b := range p {
+		shares = shares || slices.ContainsFunc(b.Code[:cap(b.Code)], func(s api.Step) bool { return s.Val != i })
+	}
+	clear(p[:cap(p)])
+	return shares
 }
