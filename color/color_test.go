@@ -10,83 +10,26 @@ import (
 	"codemason/sample"
 )
 
-// badPairs has pairs, or a number of things, that are invalid.
-type badPairs struct {
-	name  string
-	n     int
-	pairs [][2]int
-	want  api.Errno
-}
-
-// largePairs lists invalid numbers of things or pairs, which count before all that is wrong in a pair.
-func largePairs() []badPairs {
-	most := allPairs(api.MaxNodes)
-	bad := []badPairs{
-		{"too many pairs", 8, append(slices.Clone(most), [2]int{1, 0}), api.ErrLarge},
-		{"too many equal pairs", 2, slices.Repeat([][2]int{{0, 1}}, api.MaxPairs+1), api.ErrLarge},
-		{"too many pairs before arg", 8, append([][2]int{{-1, 8}}, most...), api.ErrLarge},
-		{"too many pairs before form", 8, append([][2]int{{1, 1}}, most...), api.ErrLarge},
-		{"many pairs", 8, slices.Repeat(most, 3), api.ErrLarge},
-		{"most pairs with a wrong one", 8, append(slices.Clone(most[1:]), [2]int{0, 8}), api.ErrArg},
-		{"most pairs with a thing twice", 8, append(slices.Clone(most[1:]), [2]int{7, 7}), api.ErrForm},
-	}
-	for _, n := range append(sample.Outside(api.MaxNodes+1), 0) {
-		bad = append(bad,
-			badPairs{"n", n, nil, api.ErrLarge},
-			badPairs{"n with a pair", n, [][2]int{{0, 1}}, api.ErrLarge},
-			badPairs{"n before arg", n, [][2]int{{-1, math.MaxInt}}, api.ErrLarge},
-			badPairs{"n before form", n, [][2]int{{0, 0}}, api.ErrLarge})
-	}
-	return bad
-}
-
-// wrongPairs lists pairs one of which has an element that is not a thing, or has the same element twice.
-func wrongPairs() []badPairs {
-	var bad []badPairs
-	for n := 1; n <= api.MaxNodes; n++ {
-		for place := range max(1, n-1) {
-			with := func(name string, wrong [2]int, want api.Errno) {
-				pairs := slices.Repeat([][2]int{{0, n - 1}}, max(1, n-1))
-				pairs[place] = wrong
-				bad = append(bad, badPairs{name, n, pairs, want})
-			}
-			for _, v := range sample.Outside(n) {
-				with("first element", [2]int{v, n - 1}, api.ErrArg)
-				with("second element", [2]int{0, v}, api.ErrArg)
-				with("equal elements that are no things", [2]int{v, v}, api.ErrArg)
-			}
-			if n > 1 {
-				with("equal elements", [2]int{place, place}, api.ErrForm)
-			}
-		}
-		bad = append(bad,
-			badPairs{"only equal elements", n, [][2]int{{n - 1, n - 1}}, api.ErrForm},
-			badPairs{"arg before form", n, [][2]int{{0, 0}, {0, n}}, api.ErrArg},
-			badPairs{"arg of the first pair before form", n, [][2]int{{-1, 0}, {0, 0}}, api.ErrArg})
-	}
-	return bad
-}
-
 // O1, O2: the common errors and their order, also before the errors of the last arguments.
 func TestInvalidPairs(t *testing.T) {
-	for _, c := range slices.Concat(largePairs(), wrongPairs()) {
-		if l, e := color.Least(c.n, c.pairs); len(l) != 0 || e != c.want {
-			t.Errorf("%s: Least(%d, %v) = %v, %v, want an empty list, %v", c.name, c.n, c.pairs, l, e, c.want)
+	for _, c := range sample.BadPairs(api.MaxNodes) {
+		if l, e := color.Least(c.N, c.Pairs); len(l) != 0 || e != c.Want {
+			t.Errorf("%s: Least(%d, %v) = %v, %v, want an empty list, %v", c.Name, c.N, c.Pairs, l, e, c.Want)
 		}
-		if s, e := color.Clique(c.n, c.pairs); s != 0 || e != c.want {
-			t.Errorf("%s: Clique(%d, %v) = %b, %v, want 0, %v", c.name, c.n, c.pairs, s, e, c.want)
+		if s, e := color.Clique(c.N, c.Pairs); s != 0 || e != c.Want {
+			t.Errorf("%s: Clique(%d, %v) = %b, %v, want 0, %v", c.Name, c.N, c.Pairs, s, e, c.Want)
 		}
-		if l, e := color.Perfect(c.n, c.pairs); len(l) != 0 || e != c.want {
-			t.Errorf("%s: Perfect(%d, %v) = %v, %v, want an empty list, %v", c.name, c.n, c.pairs, l, e, c.want)
+		if l, e := color.Perfect(c.N, c.Pairs); len(l) != 0 || e != c.Want {
+			t.Errorf("%s: Perfect(%d, %v) = %v, %v, want an empty list, %v", c.Name, c.N, c.Pairs, l, e, c.Want)
 		}
-		for _, order := range [][]int{nil, {-1}, upTo(max(0, min(c.n, 9)))} {
-			if l, e := color.Greedy(c.n, c.pairs, order); len(l) != 0 || e != c.want {
-				t.Errorf("%s: Greedy(%d, %v, %v) = %v, %v, want an empty list, %v", c.name, c.n, c.pairs, order, l, e, c.want)
+		for _, order := range [][]int{nil, {-1}, sample.UpTo(max(0, min(c.N, 9)))} {
+			if l, e := color.Greedy(c.N, c.Pairs, order); len(l) != 0 || e != c.Want {
+				t.Errorf("%s: Greedy(%d, %v, %v) = %v, %v, want an empty list, %v", c.Name, c.N, c.Pairs, order, l, e, c.Want)
 			}
 		}
 		for _, k := range []int{0, 2, -1} {
-			if s, e := color.Peel(c.n, c.pairs, k); s != 0 || e != c.want {
-				t.Errorf("%s: Peel(%d, %v, %d) = %b, %v, want 0, %v", c.name, c.n, c.pairs, k, s, e, c.want)
+			if s, e := color.Peel(c.N, c.Pairs, k); s != 0 || e != c.Want {
+				t.Errorf("%s: Peel(%d, %v, %d) = %b, %v, want 0, %v", c.Name, c.N, c.Pairs, k, s, e, c.Want)
 			}
 		}
 	}
@@ -94,27 +37,11 @@ func TestInvalidPairs(t *testing.T) {
 
 // O1: orders that do not contain every thing exactly once.
 func TestInvalidOrders(t *testing.T) {
-	bad := func(n int, order []int) {
-		for _, pairs := range [][][2]int{nil, allPairs(n)} {
-			if l, e := color.Greedy(n, pairs, order); len(l) != 0 || e != api.ErrForm {
-				t.Errorf("Greedy(%d, %v, %v) = %v, %v, want an empty list, %v", n, pairs, order, l, e, api.ErrForm)
-			}
-		}
-	}
 	for n := 1; n <= api.MaxNodes; n++ {
-		all := upTo(n)
-		bad(n, nil)
-		bad(n, all[1:])
-		bad(n, all[:n-1])
-		bad(n, slices.Repeat(all, 100))
-		for place := range n {
-			bad(n, slices.Insert(slices.Clone(all), place, n-1))
-			for _, wrong := range append(sample.Outside(n), (place+1)%n) {
-				if wrong != place {
-					order := slices.Clone(all)
-					order[place] = wrong
-					bad(n, order)
-					bad(n, append(slices.Clone(all), wrong))
+		for _, order := range sample.BadOrders(n) {
+			for _, pairs := range [][][2]int{nil, sample.AllPairs(n)} {
+				if l, e := color.Greedy(n, pairs, order); len(l) != 0 || e != api.ErrForm {
+					t.Errorf("Greedy(%d, %v, %v) = %v, %v, want an empty list, %v", n, pairs, order, l, e, api.ErrForm)
 				}
 			}
 		}
@@ -125,7 +52,7 @@ func TestInvalidOrders(t *testing.T) {
 func TestInvalidPeel(t *testing.T) {
 	for _, k := range []int{-1, -2, -api.MaxNodes, math.MinInt} {
 		for n := 1; n <= api.MaxNodes; n++ {
-			for _, pairs := range [][][2]int{nil, allPairs(n)} {
+			for _, pairs := range [][][2]int{nil, sample.AllPairs(n)} {
 				if s, e := color.Peel(n, pairs, k); s != 0 || e != api.ErrRange {
 					t.Errorf("Peel(%d, %v, %d) = %b, %v, want 0, %v", n, pairs, k, s, e, api.ErrRange)
 				}
@@ -179,11 +106,11 @@ func TestThings(t *testing.T) {
 	}{
 		{"example", 4, ring(4), []int{0, 1, 0, 1}, []int{0, 1, 0, 1}, 3, [4]uint32{15, 15, 15, 0}, nil},
 		{"one thing", 1, nil, []int{0}, []int{0}, 1, [4]uint32{1, 0, 0, 0}, []int{0}},
-		{"no conflicts", 8, [][2]int{}, make([]int, 8), make([]int, 8), 1, [4]uint32{255, 0, 0, 0}, upTo(8)},
+		{"no conflicts", 8, [][2]int{}, make([]int, 8), make([]int, 8), 1, [4]uint32{255, 0, 0, 0}, sample.UpTo(8)},
 		{"one pair", 2, [][2]int{{1, 0}}, []int{0, 1}, []int{0, 1}, 3, [4]uint32{3, 3, 0, 0}, []int{0, 1}},
-		{"one pair, and again", 3, [][2]int{{2, 1}, {1, 2}, {2, 1}}, []int{0, 0, 1}, []int{0, 0, 1}, 6, [4]uint32{7, 6, 0, 0}, upTo(3)},
-		{"all conflict", 8, allPairs(8), upTo(8), upTo(8), 255, [4]uint32{255, 255, 255, 255}, upTo(8)},
-		{"the path 0, 2, 1", 3, [][2]int{{0, 2}, {2, 1}}, []int{0, 0, 1}, []int{0, 0, 1}, 5, [4]uint32{7, 7, 0, 0}, upTo(3)},
+		{"one pair, and again", 3, [][2]int{{2, 1}, {1, 2}, {2, 1}}, []int{0, 0, 1}, []int{0, 0, 1}, 6, [4]uint32{7, 6, 0, 0}, sample.UpTo(3)},
+		{"all conflict", 8, sample.AllPairs(8), sample.UpTo(8), sample.UpTo(8), 255, [4]uint32{255, 255, 255, 255}, sample.UpTo(8)},
+		{"the path 0, 2, 1", 3, [][2]int{{0, 2}, {2, 1}}, []int{0, 0, 1}, []int{0, 0, 1}, 5, [4]uint32{7, 7, 0, 0}, sample.UpTo(3)},
 		{"a path whose middle comes first", 3, ring(3)[:2], []int{0, 1, 0}, []int{0, 1, 0}, 3, [4]uint32{7, 7, 0, 0}, []int{0, 1, 2}},
 		{"a star around 0", 4, [][2]int{{0, 1}, {0, 2}, {0, 3}}, []int{0, 1, 1, 1}, []int{0, 1, 1, 1}, 3,
 			[4]uint32{15, 15, 0, 0}, []int{1, 2, 0, 3}},
@@ -195,12 +122,12 @@ func TestThings(t *testing.T) {
 		{"a triangle and a tail", 5, append(ring(3), [2]int{2, 4}, [2]int{4, 3}), []int{0, 1, 2, 0, 1}, []int{0, 1, 2, 0, 1}, 7,
 			[4]uint32{31, 31, 7, 0}, []int{0, 1, 2, 3, 4}},
 		{"two triangles, the later one first", 6, [][2]int{{5, 4}, {4, 3}, {3, 5}, {0, 1}, {1, 2}, {2, 0}},
-			[]int{0, 1, 2, 0, 1, 2}, []int{0, 1, 2, 0, 1, 2}, 7, [4]uint32{63, 63, 63, 0}, upTo(6)},
+			[]int{0, 1, 2, 0, 1, 2}, []int{0, 1, 2, 0, 1, 2}, 7, [4]uint32{63, 63, 63, 0}, sample.UpTo(6)},
 		{"two sides", 8, sides(), []int{0, 1, 0, 1, 0, 1, 0, 1}, []int{0, 0, 1, 1, 2, 2, 3, 3}, 6,
 			[4]uint32{255, 255, 255, 255}, nil},
 	} {
 		checkThings(t, c.name, c.n, c.pairs, c.least, c.clique, c.perfect)
-		if l, e := color.Greedy(c.n, c.pairs, upTo(c.n)); !slices.Equal(l, c.greedy) || e != api.OK {
+		if l, e := color.Greedy(c.n, c.pairs, sample.UpTo(c.n)); !slices.Equal(l, c.greedy) || e != api.OK {
 			t.Errorf("%s: Greedy(%d, %v) = %v, %v, want %v", c.name, c.n, c.pairs, l, e, c.greedy)
 		}
 		for k, want := range c.peeled {
@@ -218,7 +145,7 @@ func TestPeelMuch(t *testing.T) {
 			k    int
 			want uint32
 		}{{n - 1, 1<<n - 1}, {n, 0}, {n + 1, 0}, {32, 0}, {1 << 32, 0}, {math.MaxInt, 0}} {
-			if s, e := color.Peel(n, allPairs(n), c.k); s != c.want || e != api.OK {
+			if s, e := color.Peel(n, sample.AllPairs(n), c.k); s != c.want || e != api.OK {
 				t.Errorf("Peel(%d, all, %d) = %b, %v, want %b", n, c.k, s, e, c.want)
 			}
 		}
@@ -247,14 +174,7 @@ func checkThings(t *testing.T, name string, n int, pairs [][2]int, least []int, 
 func TestFewThings(t *testing.T) {
 	pick := sample.Numbers()
 	for n := 1; n <= 5; n++ {
-		all := allPairs(n)
-		for chosen := range 1 << len(all) {
-			var pairs [][2]int
-			for i, p := range all {
-				if chosen>>i&1 != 0 {
-					pairs = append(pairs, p)
-				}
-			}
+		for pairs := range sample.Subsets(sample.AllPairs(n)) {
 			checkDefinitions(t, pick, n, mixed(pick, pairs))
 		}
 	}
@@ -266,7 +186,7 @@ func TestManyThings(t *testing.T) {
 	for n := 6; n <= api.MaxNodes; n++ {
 		for tenths := range 11 {
 			for range 10 {
-				checkDefinitions(t, pick, n, mixed(pick, somePairs(pick, n, tenths)))
+				checkDefinitions(t, pick, n, mixed(pick, sample.SomePairs(pick, n, tenths)))
 				checkDefinitions(t, pick, n, mixed(pick, perfectPairs(pick, n, tenths)))
 			}
 		}
@@ -278,7 +198,7 @@ func checkDefinitions(t *testing.T, pick func(int) int, n int, pairs [][2]int) {
 	t.Helper()
 	checkThings(t, "definition", n, pairs, smallestColoring(n, pairs), largestClique(n, pairs), firstPerfect(n, pairs))
 	for range 4 {
-		order := shuffled(pick, n)
+		order := sample.Shuffled(pick, n)
 		want := firstColors(n, pairs, order)
 		if l, e := color.Greedy(n, pairs, order); !slices.Equal(l, want) || e != api.OK {
 			t.Fatalf("Greedy(%d, %v, %v) = %v, %v, want %v", n, pairs, order, l, e, want)

@@ -1,10 +1,9 @@
 package color_test
 
 import (
-	"iter"
 	"slices"
 
-	"codemason/api"
+	"codemason/sample"
 )
 
 // conflict reports whether two things conflict.
@@ -25,34 +24,13 @@ func isColoring(pairs [][2]int, colors []int) bool {
 // smallestColoring searches all lists of colors, first those with few colors.
 func smallestColoring(n int, pairs [][2]int) []int {
 	for count := 1; count < n; count++ {
-		for colors := range lists(n, count) {
+		for colors := range sample.Lists(n, count) {
 			if isColoring(pairs, colors) {
 				return slices.Clone(colors)
 			}
 		}
 	}
-	return upTo(n)
-}
-
-// lists yields all lists of n numbers below count, in lexicographic order. A list is valid until the next one is yielded.
-func lists(n, count int) iter.Seq[[]int] {
-	return func(yield func(list []int) bool) {
-		list := make([]int, n)
-		for {
-			if !yield(list) {
-				return
-			}
-			i := n - 1
-			for i >= 0 && list[i] == count-1 {
-				list[i] = 0
-				i--
-			}
-			if i < 0 {
-				return
-			}
-			list[i]++
-		}
-	}
+	return sample.UpTo(n)
 }
 
 // firstColors gives each thing, in the given order, the first color that no conflicting thing before it has.
@@ -115,7 +93,7 @@ func countNear(pairs [][2]int, v int, things []int) int {
 
 // peeled removes, each time, any thing that may be removed.
 func peeled(pick func(int) int, n int, pairs [][2]int, k int) uint32 {
-	left := upTo(n)
+	left := sample.UpTo(n)
 	for {
 		var removable []int
 		for i, v := range left {
@@ -154,7 +132,7 @@ func isPerfect(pairs [][2]int, order []int) bool {
 
 // firstPerfect searches all orders: it returns nil if none of them is perfect.
 func firstPerfect(n int, pairs [][2]int) []int {
-	for order := range orders(n) {
+	for order := range sample.Orders(n) {
 		if isPerfect(pairs, order) {
 			return slices.Clone(order)
 		}
@@ -162,96 +140,24 @@ func firstPerfect(n int, pairs [][2]int) []int {
 	return nil
 }
 
-// orders yields all orders of n things, in lexicographic order. An order is valid until the next one is yielded.
-func orders(n int) iter.Seq[[]int] {
-	return func(yield func(order []int) bool) {
-		order := upTo(n)
-		for {
-			if !yield(order) {
-				return
-			}
-			i := n - 2
-			for i >= 0 && order[i] > order[i+1] {
-				i--
-			}
-			if i < 0 {
-				return
-			}
-			k := n - 1
-			for order[k] < order[i] {
-				k--
-			}
-			order[i], order[k] = order[k], order[i]
-			slices.Reverse(order[i+1:])
-		}
-	}
-}
-
-// upTo lists the numbers below n.
-func upTo(n int) []int {
-	var list []int
-	for v := range n {
-		list = append(list, v)
-	}
-	return list
-}
-
-// allPairs lists all pairs of n things.
-func allPairs(n int) [][2]int {
-	var pairs [][2]int
-	for b := range n {
-		for a := range b {
-			pairs = append(pairs, [2]int{a, b})
-		}
-	}
-	return pairs
-}
-
-// shuffled lists n things in any order.
-func shuffled(pick func(int) int, n int) []int {
-	var list []int
-	for v := range n {
-		list = slices.Insert(list, pick(v+1), v)
-	}
-	return list
-}
-
 // mixed lists the same pairs in any order, each with any element first, and some of them twice if there is room.
 func mixed(pick func(int) int, pairs [][2]int) [][2]int {
-	var list [][2]int
-	for i, p := range pairs {
-		times := 1
-		if len(list)+len(pairs)-i < api.MaxPairs {
-			times += pick(2)
-		}
-		for range times {
-			if pick(2) == 0 {
-				p[0], p[1] = p[1], p[0]
-			}
-			list = slices.Insert(list, pick(len(list)+1), p)
+	list := sample.MixedPairs(pick, pairs)
+	for i, p := range list {
+		if pick(2) == 0 {
+			list[i] = [2]int{p[1], p[0]}
 		}
 	}
 	return list
-}
-
-// somePairs lists each pair of n things with a chance of so many tenths.
-func somePairs(pick func(int) int, n, tenths int) [][2]int {
-	var pairs [][2]int
-	for _, p := range allPairs(n) {
-		if pick(10) < tenths {
-			pairs = append(pairs, p)
-		}
-	}
-	return pairs
 }
 
 // perfectPairs lists pairs of n things that have a perfect elimination order: the reverse of the order in which things are added, each of which conflicts with things that conflict with each other.
 func perfectPairs(pick func(int) int, n, tenths int) [][2]int {
 	var pairs [][2]int
-	things := shuffled(pick, n)
+	things := sample.Shuffled(pick, n)
 	for i, v := range things {
 		var near []int
-		for _, k := range shuffled(pick, i) {
+		for _, k := range sample.Shuffled(pick, i) {
 			w := things[k]
 			if pick(10) < tenths && allConflict(pairs, append(near, w)) {
 				near = append(near, w)
