@@ -219,7 +219,7 @@ func checkDefinitions(t *testing.T, vars int, p []api.Block, set uint32) []api.B
 	want := make([]uint32, len(p))
 	for i := range p {
 		for v := range vars {
-			if isLive(p, set, v, [2]int{i, 0}) {
+			if isLive(p, set, v, sample.Place{Block: i}) {
 				want[i] |= 1 << v
 			}
 		}
@@ -234,50 +234,20 @@ func checkDefinitions(t *testing.T, vars int, p []api.Block, set uint32) []api.B
 	return q
 }
 
-// isLive reports whether variable v is live before a step, which is given by its block and its place there, by the document's definition.
-func isLive(p []api.Block, set uint32, v int, from [2]int) bool {
-	// Each place is visited once: points has those that some way leads to without setting v.
-	points := [][2]int{from}
-	for n := 0; n < len(points); n++ {
-		i, k := points[n][0], points[n][1]
-		b := p[i]
-		if k == len(b.Code) {
-			if b.Test == v || b.Test == -1 && b.Then == -1 && set>>v&1 != 0 {
-				return true
-			}
-			points = addPoint(points, b.Then, 0)
-			if b.Test != -1 {
-				points = addPoint(points, b.Else, 0)
-			}
-			continue
+// isLive reports whether variable v is live at a place of a program, by the document's definition.
+func isLive(p []api.Block, set uint32, v int, from sample.Place) bool {
+	used := func(at sample.Place) bool {
+		b := p[at.Block]
+		if at.Step < len(b.Code) {
+			return sample.Uses(b.Code[at.Step], v)
 		}
-		if uses(b.Code[k], v) {
-			return true
-		}
-		if b.Code[k].To != v {
-			points = addPoint(points, i, k+1)
-		}
+		return b.Test == v || sample.Stops(b) && set>>v&1 != 0
 	}
-	return false
-}
-
-// addPoint adds a place to the list, unless it is already there or is not in a block.
-func addPoint(points [][2]int, i, k int) [][2]int {
-	if i == -1 || slices.Contains(points, [2]int{i, k}) {
-		return points
+	isSet := func(at sample.Place) bool {
+		code := p[at.Block].Code
+		return at.Step < len(code) && code[at.Step].To == v
 	}
-	return append(points, [2]int{i, k})
-}
-
-// uses reports whether a step uses variable v.
-func uses(s api.Step, v int) bool {
-	switch s.Op {
-	case api.ONum:
-		return false
-	case api.OVar:
-		return s.Val == v
-	}
-	return s.A == v || s.B == v
+	return sample.Leads(p, from, used, isSet)
 }
 
 // trimmed is the program without the steps that the document tells to remove, one after another.
@@ -296,12 +266,38 @@ func trimmed(p []api.Block, set uint32) []api.Block {
 func deadStep(p []api.Block, set uint32) (i, k int) {
 	for i, b := range p {
 		for k, s := range b.Code {
-			if !isLive(p, set, s.To, [2]int{i, k + 1}) {
+			if !isLive(p, set, s.To, sample.Place{Block: i, Step: k + 1}) {
 				return i, k
 			}
 		}
 	}
 	return -1, -1
+}
+
+// P1: one step, and all numbers: what is not a variable is ignored.
+func TestBeforeStep(t *testing.T) {
+	for _, c := range []struct {
+		step       api.Step
+		live, want uint32
+	}{
+		{setNum(0, 1), 0b0101, 0b0100},
+		{setNum(1, 2), 0b0101, 0b0101},
+		{setVar(0, 3), 0b0101, 0b1100},
+		{setVar(1, 1), 0b0010, 0b0010},
+		{set(api.OSub, 0, 1, 2), 0b0001, 0b0110},
+		{set(api.OAdd, 2, 2, 31), 0b0101, 1<<31 | 0b0101},
+	} {
+		if in := live.BeforeStep(c.step, c.live); in != c.want {
+			t.Errorf("BeforeStep(%v, %b) = %b, want %b", c.step, c.live, in, c.want)
+		}
+	}
+	for _, v := range sample.Outside(32) {
+		for _, step := range []api.Step{setNum(v, 1), setVar(v, v), set(api.OMul, v, v, v), {Op: v, To: v, A: v, B: v, Val: v}} {
+			if in := live.BeforeStep(step, math.MaxUint32); in != math.MaxUint32 {
+				t.Errorf("BeforeStep(%v, all) = %b, want all", step, in)
+			}
+		}
+	}
 }
 
 // P3: the program stays as it is, also beyond the length of a list, and results share no memory.

@@ -252,6 +252,55 @@ func FillUnused(pick func(int) int, vars int, p []api.Block) {
 	}
 }
 
+// Place is where a program may be: before a step of a block, or behind the last one if Step is the number of its steps.
+type Place struct{ Block, Step int }
+
+// Leads reports whether some way from a place leads to one for which found reports true, where no way goes on from a place for which ends reports true.
+func Leads(p []api.Block, from Place, found, ends func(at Place) bool) bool {
+	places := []Place{from}
+	// Each place is visited once.
+	add := func(at Place) {
+		if !slices.Contains(places, at) {
+			places = append(places, at)
+		}
+	}
+	for n := 0; n < len(places); n++ {
+		at := places[n]
+		if found(at) {
+			return true
+		}
+		if ends(at) {
+			continue
+		}
+		b := p[at.Block]
+		if at.Step < len(b.Code) {
+			add(Place{at.Block, at.Step + 1})
+			continue
+		}
+		if b.Then != -1 {
+			add(Place{b.Then, 0})
+		}
+		if b.Test != -1 {
+			add(Place{b.Else, 0})
+		}
+	}
+	return false
+}
+
+// Stops reports whether a program stops behind a block.
+func Stops(b api.Block) bool { return b.Test == -1 && b.Then == -1 }
+
+// Uses reports whether a step uses variable v.
+func Uses(s api.Step, v int) bool {
+	switch s.Op {
+	case api.ONum:
+		return false
+	case api.OVar:
+		return s.Val == v
+	}
+	return s.A == v || s.B == v
+}
+
 // CountSteps is the number of steps of all blocks.
 func CountSteps(p []api.Block) int {
 	count := 0
