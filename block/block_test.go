@@ -327,24 +327,8 @@ func execute(p []api.Block, have []int) (vals, was []int, stops bool) {
 	at := 0
 	for len(was) < api.MaxTurns {
 		was = append(was, at)
-		b := p[at]
-		for _, s := range b.Code {
-			switch s.Op {
-			case api.ONum:
-				x[s.To] = s.Val
-			case api.OVar:
-				x[s.To] = x[s.Val]
-			default:
-				x[s.To] = sample.Apply(s.Op, x[s.A], x[s.B])
-			}
-		}
-		switch {
-		case b.Test == -1 && b.Then == -1:
+		if at = sample.RunBlock(p[at], x); at == -1 {
 			return x, was, true
-		case b.Test == -1 || x[b.Test] != 0:
-			at = b.Then
-		default:
-			at = b.Else
 		}
 	}
 	return nil, nil, false

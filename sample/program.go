@@ -194,6 +194,29 @@ func Values(pick func(int) int, vars int) []int {
 	return have
 }
 
+// Execute changes the values of variables as steps do, by the document's definition.
+func Execute(code []api.Step, vals []int) {
+	for _, s := range code {
+		switch s.Op {
+		case api.ONum:
+			vals[s.To] = s.Val
+		case api.OVar:
+			vals[s.To] = vals[s.Val]
+		default:
+			vals[s.To] = Apply(s.Op, vals[s.A], vals[s.B])
+		}
+	}
+}
+
+// RunBlock changes the values of variables as a block does, by the document's definition, and returns the next block or -1.
+func RunBlock(b api.Block, vals []int) int {
+	Execute(b.Code, vals)
+	if b.Test != -1 && vals[b.Test] == 0 {
+		return b.Else
+	}
+	return b.Then
+}
+
 // WatchedProgram is a program over two variables, and a function that tells whether it has changed, also beyond the length of a list. It takes 1 from variable 0 until that is 0.
 func WatchedProgram() (p []api.Block, changed func() bool) {
 	wrong := api.Step{Op: 99}

@@ -50,6 +50,21 @@ func Numbers() func(n int) int {
 	}
 }
 
+// Overlap marks the elements of each list with its number, and reports whether another list changes them by that.
+func Overlap[E any](lists [][]E, with func(mark int) E, markOf func(E) int) bool {
+	for i, list := range lists {
+		for k := range list[:cap(list)] {
+			list[:cap(list)][k] = with(i)
+		}
+	}
+	for i, list := range lists {
+		if slices.ContainsFunc(list[:cap(list)], func(e E) bool { return markOf(e) != i }) {
+			return true
+		}
+	}
+	return false
+}
+
 // Apply is the value of an operation by the document's definition.
 func Apply(op, a, b int) int {
 	switch op {

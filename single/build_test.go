@@ -149,22 +149,8 @@ func valuesBehind(p []api.Block, have []int) [][]int {
 	vals := slices.Clone(have)
 	at := 0
 	for len(all) < api.MaxTurns && at != -1 {
-		for _, s := range p[at].Code {
-			switch s.Op {
-			case api.ONum:
-				vals[s.To] = s.Val
-			case api.OVar:
-				vals[s.To] = vals[s.Val]
-			default:
-				vals[s.To] = sample.Apply(s.Op, vals[s.A], vals[s.B])
-			}
-		}
+		at = sample.RunBlock(p[at], vals)
 		all = append(all, slices.Clone(vals))
-		if p[at].Test == -1 || vals[p[at].Test] != 0 {
-			at = p[at].Then
-		} else {
-			at = p[at].Else
-		}
 	}
 	return all
 }
@@ -200,31 +186,16 @@ func checkApart(t *testing.T, l []api.Single) {
 			numbers = append(numbers, j.From)
 		}
 	}
-	if overlap(numbers, func(mark int) int { return mark }, func(n int) int { return n }) {
+	if sample.Overlap(numbers, func(mark int) int { return mark }, func(n int) int { return n }) {
 		t.Errorf("lists of names share memory: %v", l)
 	}
-	if overlap(code, func(mark int) api.Step { return api.Step{Val: mark} }, func(s api.Step) int { return s.Val }) {
+	if sample.Overlap(code, func(mark int) api.Step { return api.Step{Val: mark} }, func(s api.Step) int { return s.Val }) {
 		t.Errorf("lists of steps share memory: %v", l)
 	}
-	if overlap(joins, func(mark int) api.Join { return api.Join{To: mark} }, func(j api.Join) int { return j.To }) {
+	if sample.Overlap(joins, func(mark int) api.Join { return api.Join{To: mark} }, func(j api.Join) int { return j.To }) {
 		t.Errorf("lists of joins share memory: %v", l)
 	}
 	clear(l[:cap(l)])
-}
-
-// overlap marks the elements of each list with its number, and reports whether another list changes them by that.
-func overlap[E any](lists [][]E, with func(mark int) E, markOf func(E) int) bool {
-	for i, list := range lists {
-		for k := range list[:cap(list)] {
-			list[:cap(list)][k] = with(i)
-		}
-	}
-	for i, list := range lists {
-		if slices.ContainsFunc(list[:cap(list)], func(e E) bool { return markOf(e) != i }) {
-			return true
-		}
-	}
-	return false
 }
 
 // P3: named programs and initial values stay as they are, also beyond the length of a list, and results share no memory.

@@ -128,16 +128,7 @@ func execute(vars int, l []api.Single, have []int) (vals []int, lasts [][]int, s
 		for _, j := range b.Joins {
 			x[j.To] = before[j.From[slices.Index(sources[at], from)]]
 		}
-		for _, s := range b.Code {
-			switch s.Op {
-			case api.ONum:
-				x[s.To] = s.Val
-			case api.OVar:
-				x[s.To] = x[s.Val]
-			default:
-				x[s.To] = sample.Apply(s.Op, x[s.A], x[s.B])
-			}
-		}
+		sample.Execute(b.Code, x[:])
 		last := make([]int, vars)
 		for v := range last {
 			last[v] = x[b.Last[v]]

@@ -309,24 +309,6 @@ func checkRun(t *testing.T, vars int, p []api.Block, have []api.Span, vals []int
 				t.Fatalf("In(%d, %v, %v) = %v, but before block %d the values are %v from %v", vars, p, have, in, at, now, vals)
 			}
 		}
-		at = runBlock(p[at], now)
+		at = sample.RunBlock(p[at], now)
 	}
-}
-
-// runBlock executes a block, and returns the next one or -1.
-func runBlock(b api.Block, vals []int) int {
-	for _, s := range b.Code {
-		switch s.Op {
-		case api.ONum:
-			vals[s.To] = s.Val
-		case api.OVar:
-			vals[s.To] = vals[s.Val]
-		default:
-			vals[s.To] = sample.Apply(s.Op, vals[s.A], vals[s.B])
-		}
-	}
-	if b.Test != -1 && vals[b.Test] == 0 {
-		return b.Else
-	}
-	return b.Then
 }

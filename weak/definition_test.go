@@ -13,16 +13,7 @@ import (
 // execute returns the values of the variables behind the steps, by the document's definition.
 func execute(code []api.Step, have []int) []int {
 	vals := slices.Clone(have)
-	for _, s := range code {
-		switch s.Op {
-		case api.ONum:
-			vals[s.To] = s.Val
-		case api.OVar:
-			vals[s.To] = vals[s.Val]
-		default:
-			vals[s.To] = sample.Apply(s.Op, vals[s.A], vals[s.B])
-		}
-	}
+	sample.Execute(code, vals)
 	return vals
 }
 
