@@ -266,7 +266,7 @@ func (m *maker) list(deep int) []api.Shape {
 	return l
 }
 
-// statement builds a statement whose lists are nested so deep at most. Those that its kind does not use are often invalid.
+// statement builds a statement whose lists are nested so deep at most. Sometimes it also has those that its kind does not use.
 func (m *maker) statement(deep int) api.Shape {
 	switch m.pick(5) {
 	case 0, 1:
@@ -283,8 +283,8 @@ func (m *maker) statement(deep int) api.Shape {
 		return s
 	}
 	s := while(m.pick(m.vars), m.list(deep)...)
-	if m.pick(8) == 0 && deep > 0 {
-		s.Else = list(api.Shape{Kind: m.pick(5)})
+	if m.pick(8) == 0 {
+		s.Else = m.list(deep)
 	}
 	return s
 }

@@ -74,17 +74,11 @@ func depthOf(l []api.Shape) int {
 	return deepest
 }
 
-// inOrder lists all statements that are used, each before those of its Then, and these before those of its Else.
+// inOrder lists all statements, also in lists that are not used, each before those of its Then, and these before those of its Else.
 func inOrder(l []api.Shape) []api.Shape {
 	var all []api.Shape
 	for _, s := range l {
-		all = append(all, s)
-		if s.Kind == api.SBoth || s.Kind == api.SWhile {
-			all = append(all, inOrder(s.Then)...)
-		}
-		if s.Kind == api.SBoth {
-			all = append(all, inOrder(s.Else)...)
-		}
+		all = slices.Concat(all, list(s), inOrder(s.Then), inOrder(s.Else))
 	}
 	return all
 }

@@ -21,19 +21,18 @@ type badShape struct {
 // wrap is a way in which a list may be inside of a statement.
 type wrap struct {
 	name string
-	uses bool // Whether the kind uses the list.
 	wrap func(l []api.Shape) api.Shape
 }
 
-// wraps lists all ways in which a list may be inside of a statement.
+// wraps lists all ways in which a list may be inside of a statement: at first those where the kind uses it.
 func wraps() []wrap {
 	return []wrap{
-		{"Then of SBoth", true, func(l []api.Shape) api.Shape { return both(0, l, nil) }},
-		{"Else of SBoth", true, func(l []api.Shape) api.Shape { return both(0, nil, l) }},
-		{"Then of SWhile", true, func(l []api.Shape) api.Shape { return while(0, l...) }},
-		{"Else of SWhile", false, func(l []api.Shape) api.Shape { return api.Shape{Kind: api.SWhile, Else: l} }},
-		{"Then of SCode", false, func(l []api.Shape) api.Shape { return api.Shape{Kind: api.SCode, Then: l} }},
-		{"Else of SCode", false, func(l []api.Shape) api.Shape { return api.Shape{Kind: api.SCode, Else: l} }},
+		{"Then of SBoth", func(l []api.Shape) api.Shape { return both(0, l, nil) }},
+		{"Else of SBoth", func(l []api.Shape) api.Shape { return both(0, nil, l) }},
+		{"Then of SWhile", func(l []api.Shape) api.Shape { return while(0, l...) }},
+		{"Else of SWhile", func(l []api.Shape) api.Shape { return api.Shape{Kind: api.SWhile, Else: l} }},
+		{"Then of SCode", func(l []api.Shape) api.Shape { return api.Shape{Kind: api.SCode, Then: l} }},
+		{"Else of SCode", func(l []api.Shape) api.Shape { return api.Shape{Kind: api.SCode, Else: l} }},
 	}
 }
 
@@ -104,7 +103,7 @@ func TestEndlessShapes(t *testing.T) {
 	}
 }
 
-// U1, U2: one invalid statement among valid ones, at each place where it counts and at each where it does not.
+// U1, U2: one invalid statement among valid ones, at each place, also in lists that are not used.
 func TestInvalidStatements(t *testing.T) {
 	var bad []badShape
 	for _, kind := range []int{math.MinInt, -1, 0, api.SWhile + 1, math.MaxInt} {
@@ -125,12 +124,7 @@ func TestInvalidStatements(t *testing.T) {
 		checkRejected(t, c.name+" before others", c.vars, append(slices.Clone(c.list), fine), c.want)
 		for _, w := range wraps() {
 			for times := 1; times <= 3; times++ {
-				l := append(nested(c.list, times, w.wrap), code())
-				if w.uses {
-					checkRejected(t, c.name+" in "+w.name, c.vars, l, c.want)
-				} else if e := shape.Check(c.vars, l); e != api.OK {
-					t.Errorf("%s in %s: Check(%d, %v) = %v, want OK", c.name, w.name, c.vars, l, e)
-				}
+				checkRejected(t, c.name+" in "+w.name, c.vars, append(nested(c.list, times, w.wrap), code()), c.want)
 			}
 		}
 	}
@@ -157,8 +151,18 @@ func TestFirstInvalidStatement(t *testing.T) {
 		{"a body before what follows", 1, list(while(0, code(), arg), kind), api.ErrArg},
 		{"what follows where the body is valid", 1, list(while(0, code()), kind, arg), api.ErrKind},
 		{"deep in Then before Else", 1, list(both(0, list(while(0, both(0, nil, list(value)))), list(kind))), api.ErrRange},
-		{"what is not used before what is", 1, list(api.Shape{Kind: api.SWhile, Then: list(arg), Else: list(kind)}), api.ErrArg},
-		{"Else of SWhile before what follows", 1, list(api.Shape{Kind: api.SWhile, Else: list(kind)}, value), api.ErrRange},
+		{"Then of SWhile before its Else", 1, list(api.Shape{Kind: api.SWhile, Then: list(arg), Else: list(kind)}), api.ErrArg},
+		{"Test before Else of SWhile", 1, list(api.Shape{Kind: api.SWhile, Test: 1, Else: list(kind)}), api.ErrArg},
+		{"Else of SWhile before what follows", 1, list(api.Shape{Kind: api.SWhile, Else: list(kind)}, value), api.ErrKind},
+		{"steps before Then of SCode", 1, list(api.Shape{Kind: api.SCode, Code: value.Code, Then: list(kind)}), api.ErrRange},
+		{"steps before Else of SCode", 1, list(api.Shape{Kind: api.SCode, Code: arg.Code, Else: list(kind)}), api.ErrArg},
+		{"Then of SCode before its Else", 1, list(api.Shape{Kind: api.SCode, Then: list(value), Else: list(kind)}), api.ErrRange},
+		{"Then of SCode before what follows", 1, list(api.Shape{Kind: api.SCode, Then: list(arg)}, kind), api.ErrArg},
+		{"Else of SCode before what follows", 1, list(api.Shape{Kind: api.SCode, Then: list(code()), Else: list(value)}, kind), api.ErrRange},
+		{"lists that are not used in each other", 1, list(api.Shape{Kind: api.SWhile, Else: list(
+			api.Shape{Kind: api.SCode, Then: list(both(0, list(arg), list(kind))), Else: list(value)})}, kind), api.ErrArg},
+		{"steps of SBoth in a list that is not used", 1, list(
+			api.Shape{Kind: api.SCode, Then: list(api.Shape{Kind: api.SBoth, Code: value.Code})}, kind), api.ErrKind},
 		{"steps of SBoth", 1, list(api.Shape{Kind: api.SBoth, Code: value.Code}, kind), api.ErrKind},
 	} {
 		checkRejected(t, c.name, c.vars, c.list, c.want)
@@ -168,7 +172,7 @@ func TestFirstInvalidStatement(t *testing.T) {
 	}
 }
 
-// U1: structured programs that are valid, at the limits and with anything in what is not used.
+// U1: structured programs that are valid, at the limits and with anything in a Test or in steps that are not used.
 func TestValidShapes(t *testing.T) {
 	most := slices.Repeat(list(code()), api.MaxNodes)
 	full := slices.Repeat([]api.Step{setNum(0, 1)}, api.MaxLines)
