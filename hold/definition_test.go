@@ -102,25 +102,3 @@ func missesOfPlay(refs []int, places int, out []int) (int, api.Errno) {
 	}
 	return count, api.OK
 }
-
-// shortRefs yields all lists of at most so many references to so many things. A list is valid until the next one is yielded.
-func shortRefs(things []int, most int) iter.Seq[[]int] {
-	return func(yield func([]int) bool) {
-		var extend func(refs []int) bool
-		extend = func(refs []int) bool {
-			if !yield(refs) {
-				return false
-			}
-			if len(refs) == most {
-				return true
-			}
-			for _, thing := range things {
-				if !extend(append(refs, thing)) {
-					return false
-				}
-			}
-			return true
-		}
-		extend(nil)
-	}
-}

@@ -131,7 +131,7 @@ func TestPlay(t *testing.T) {
 
 // P1: the document's example: with one place, every reference that differs from the preceding one is a miss.
 func TestOnePlace(t *testing.T) {
-	for refs := range shortRefs(things()[:3], 7) {
+	for refs := range sample.AllLists(things()[:3], 7) {
 		inserted := slices.Compact(slices.Clone(refs))
 		want := len(inserted)
 		checkMisses(t, "one place", refs, 1, want, want, want)
@@ -143,7 +143,7 @@ func TestOnePlace(t *testing.T) {
 
 // P1: all short lists of references.
 func TestShortRefs(t *testing.T) {
-	for refs := range shortRefs(things()[:5], 6) {
+	for refs := range sample.AllLists(things()[:5], 6) {
 		for places := 1; places <= 5; places++ {
 			checkDefinitions(t, refs, places)
 		}
@@ -153,10 +153,10 @@ func TestShortRefs(t *testing.T) {
 // P1: all ways to evict, for all short lists of references: the best one has as few misses as possible.
 func TestAllPlays(t *testing.T) {
 	all := things()[:4]
-	for refs := range shortRefs(all, 5) {
+	for refs := range sample.AllLists(all, 5) {
 		for places := 1; places <= 4; places++ {
 			least := math.MaxInt
-			for out := range shortRefs(all, max(0, len(refs)-places)) {
+			for out := range sample.AllLists(all, max(0, len(refs)-places)) {
 				want, wrong := missesOfPlay(refs, places, out)
 				n, e := hold.Play(refs, places, out)
 				if n != want || e != wrong {

@@ -35,6 +35,28 @@ func Lists(n, count int) iter.Seq[[]int] {
 	}
 }
 
+// AllLists yields all lists of at most most of these elements. A list is valid until the next one is yielded.
+func AllLists[E any](elements []E, most int) iter.Seq[[]E] {
+	return func(yield func(list []E) bool) {
+		var extend func(list []E) bool
+		extend = func(list []E) bool {
+			if !yield(list) {
+				return false
+			}
+			if len(list) == most {
+				return true
+			}
+			for _, e := range elements {
+				if !extend(append(list, e)) {
+					return false
+				}
+			}
+			return true
+		}
+		extend(nil)
+	}
+}
+
 // Orders yields all orders of the numbers below n, in lexicographic order. An order is valid until the next one is yielded.
 func Orders(n int) iter.Seq[[]int] {
 	return func(yield func(order []int) bool) {
